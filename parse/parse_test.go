@@ -22,7 +22,7 @@ func TestShown(t *testing.T) {
 		"{a\\\n \tb} {\\\\\nc} {}":       "command 0\nword\n text {a b}\nword\n text \\\\\\\\\\nc\nword\n text {}\n",
 		"a\\\n b\n\\\nc":                 "command 0\nword\n text a\nword\n text b\ncommand 8\nword\n text c\n",
 		"\"a\\\n b\" \"\"":               "command 0\nword\n text {a b}\nword\n text {}\n",
-		"x [] [a;b\n# ]\n]d":           "command 0\nword\n text x\nword\n script {}\nword\n script {a;b\n# ]\n}\n text d\n",
+		"x [] [a;b\n# ]\n]d":             "command 0\nword\n text x\nword\n script {}\nword\n script {a;b\n# ]\n}\n text d\n",
 		"a\"b{c}] }":                     "command 0\nword\n text {a\"b{c}]}\nword\n text \\}\n",
 		"$a()":                           "command 0\nword\n var a\n index\n  text {}\n",
 		"$a([f \")\"]x];\") y":           "command 0\nword\n var a\n index\n  script {f \")\"}\n  text {x];\"}\nword\n text y\n",
