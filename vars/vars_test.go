@@ -1,0 +1,174 @@
+package vars
+
+import (
+	"slices"
+	"testing"
+
+	"threadbare/api"
+)
+
+func want(t *testing.T, what string, got, wanted any) {
+	t.Helper()
+	if got != wanted {
+		t.Errorf("%s: %v, not %v", what, got, wanted)
+	}
+}
+
+func value(s *Space, scope int, word string) string {
+	v, e := s.Get(scope, word)
+	if e != api.OK {
+		return map[api.Errno]string{api.ErrNone: "<none>", api.ErrKind: "<kind>", api.ErrRange: "<range>"}[e]
+	}
+	return v
+}
+
+func TestVariables(t *testing.T) {
+	s := New()
+	want(t, "Set", s.Set(0, "a(1)", "x"), api.OK)
+	want(t, "Set", s.Set(0, "b", "y"), api.OK)
+	want(t, "Set", s.Set(0, "a(b(", "odd"), api.OK)
+	for word, v := range map[string]string{"a(1)": "x", "a": "<kind>", "a(2)": "<none>", "b": "y", "b(1)": "<kind>", "c": "<none>", "c(1)": "<none>", "a(b(": "odd"} {
+		want(t, word, value(s, 0, word), v)
+	}
+	want(t, "scalar as array", s.Set(0, "b(1)", ""), api.ErrKind)
+	want(t, "array as scalar", s.Set(0, "a", ""), api.ErrKind)
+	for word, k := range map[string]int{"a": 2, "a(1)": 1, "a(2)": 0, "b": 1, "b(1)": 0, "q": 0} {
+		want(t, "Kind "+word, s.Kind(0, word), k)
+	}
+	want(t, "Unset element", s.Unset(0, "a(1)"), api.OK)
+	want(t, "Unset again", s.Unset(0, "a(1)"), api.ErrNone)
+	want(t, "an empty array", s.Kind(0, "a"), 2)
+	want(t, "Unset array", s.Unset(0, "a"), api.OK)
+	want(t, "gone", s.Kind(0, "a"), 0)
+	want(t, "Unset of a scalar's element", s.Unset(0, "b(1)"), api.ErrKind)
+	want(t, "Unset none", s.Unset(0, "zz"), api.ErrNone)
+	s.Set(0, "", "empty")
+	s.Set(0, "a", "now a scalar")
+	want(t, "Dump", s.Dump(0), "{} {s empty} a {s {now a scalar}} a(b( {s odd} b {s y}")
+	s.Set(5, "x", "y")
+	want(t, "no scope", s.Set(5, "x", "y"), api.ErrRange)
+	want(t, "no scope", value(s, 5, "x"), "<range>")
+	want(t, "no scope", s.Unset(-1, "x"), api.ErrRange)
+	want(t, "no scope", s.Kind(5, "x"), 0)
+	want(t, "no scope", s.Dump(5), "")
+	want(t, "no scope", len(s.Names(5, "*")), 0)
+	for word, w := range map[string][3]string{"a": {"a", "", "0"}, "a(b)": {"a", "b", "1"}, "a(b)(c)": {"a", "b)(c", "1"}, "a(b": {"a(b", "", "0"}, "a)": {"a)", "", "0"}, "()": {"", "", "1"}, "": {"", "", "0"}, "a::b(x y)": {"a::b", "x y", "1"}, ")(": {")(", "", "0"}} {
+		n, i, e := Split(word)
+		if n != w[0] || i != w[1] || e != (w[2] == "1") {
+			t.Errorf("Split(%q) = %q, %q, %t", word, n, i, e)
+		}
+	}
+}
+
+func TestScopes(t *testing.T) {
+	s := New()
+	a := s.Push()
+	r := s.Room("r")
+	b := s.Push()
+	want(t, "numbers", [3]int{a, r, b}, [3]int{1, 2, 3})
+	want(t, "Calls", s.Calls(), 2)
+	want(t, "Room again", s.Room("r"), r)
+	want(t, "Room of nothing", s.Room(""), 0)
+	for level, n := range []int{0, a, b} {
+		got, e := s.Scope(level)
+		want(t, "Scope", got, n)
+		want(t, "Scope", e, api.OK)
+	}
+	_, e := s.Scope(3)
+	want(t, "Scope", e, api.ErrRange)
+	_, e = s.Scope(-1)
+	want(t, "Scope", e, api.ErrRange)
+	s.Set(b, "x", "1")
+	s.Set(r, "x", "room")
+	want(t, "Pop", s.Pop(), api.OK)
+	want(t, "ended", value(s, b, "x"), "<range>")
+	want(t, "a new call", s.Push(), 4)
+	want(t, "empty", value(s, 4, "x"), "<none>")
+	want(t, "a room", value(s, r, "x"), "room")
+	s.Pop()
+	s.Pop()
+	want(t, "Pop of none", s.Pop(), api.ErrState)
+	var none *Space
+	want(t, "nil", none.Push()+none.Room("x")+none.Calls()+none.Kind(0, "a"), 0)
+	want(t, "nil", none.Pop(), api.ErrState)
+	want(t, "nil", none.Set(0, "a", ""), api.ErrRange)
+	want(t, "nil", none.Link(0, "a", 0, "b"), api.ErrRange)
+	want(t, "nil", none.Linked(0, "a"), false)
+	want(t, "nil", none.Dump(0), "")
+	_, e = none.Keys(0, "a", "*")
+	want(t, "nil", e, api.ErrRange)
+}
+
+func TestLinks(t *testing.T) {
+	s := New()
+	c := s.Push()
+	want(t, "Link", s.Link(c, "x", 0, "a(1)"), api.OK)
+	want(t, "unset", value(s, c, "x"), "<none>")
+	want(t, "not made", s.Kind(0, "a"), 0)
+	s.Set(c, "x", "5")
+	want(t, "a", s.Kind(0, "a"), 2)
+	want(t, "a(1)", value(s, 0, "a(1)"), "5")
+	want(t, "an element of an element", value(s, c, "x(1)"), "<kind>")
+	s.Link(c, "y", c, "x")
+	s.Set(c, "y", "6")
+	want(t, "a link of a link", value(s, 0, "a(1)"), "6")
+	s.Unset(0, "a")
+	want(t, "unset", value(s, c, "y"), "<none>")
+	want(t, "an element of an element, unset", s.Set(c, "x(1)", ""), api.ErrKind)
+	s.Set(0, "a", "scalar")
+	want(t, "while it is a scalar", value(s, c, "x"), "<kind>")
+	want(t, "while it is a scalar", s.Kind(c, "x"), 0)
+	want(t, "while it is a scalar", len(s.Names(c, "*")), 0)
+	s.Unset(0, "a")
+	s.Set(0, "a(1)", "again")
+	want(t, "again", value(s, c, "x"), "again")
+	want(t, "linked", s.Linked(c, "x"), true)
+	want(t, "unset through", s.Unset(c, "x"), api.OK)
+	want(t, "still linked", s.Linked(c, "x"), true)
+	s.Set(0, "g", "1")
+	want(t, "anew", s.Link(c, "x", 0, "g"), api.OK)
+	s.Set(c, "x", "2")
+	want(t, "nobody is taken with it", value(s, c, "y"), "<none>")
+	want(t, "g", value(s, 0, "g"), "2")
+	for _, k := range []struct {
+		name string
+		to   int
+		word string
+		e    api.Errno
+	}{{"x", 9, "g", api.ErrRange}, {"x(1)", 9, "g", api.ErrRange}, {"x(1)", 0, "g", api.ErrName}, {"own", 0, "own", api.ErrDuplicate}, {"z", c, "z", api.ErrState}, {"z", c, "z(1)", api.ErrState}, {"q", 0, "g(1)", api.ErrKind}, {"q", c, "e(1)", api.ErrKind}, {"x", c, "x", api.OK}} {
+		s.Set(c, "own", "1")
+		s.Link(c, "e", 0, "arr(1)")
+		want(t, "Link "+k.name+" to "+k.word, s.Link(c, k.name, k.to, k.word), k.e)
+	}
+	want(t, "q is no link", s.Linked(c, "q"), false)
+	s.Link(c, "p", 0, "n")
+	want(t, "a circle", s.Link(0, "n", c, "p"), api.ErrState)
+	want(t, "no scope", s.Link(9, "x", 0, "g"), api.ErrRange)
+	d := s.Push()
+	s.Set(d, "local", "kept")
+	s.Link(0, "out", d, "local")
+	s.Pop()
+	want(t, "what links to an ended call's", value(s, 0, "out"), "kept")
+	if n := s.Names(0, "*"); !slices.Equal(n, []string{"a", "g", "out"}) {
+		t.Errorf("Names = %q", n)
+	}
+	s.Set(0, "a(0)", "z")
+	s.Set(0, "a(10)", "y")
+	k, e := s.Keys(0, "a", "1*")
+	if e != api.OK || !slices.Equal(k, []string{"10"}) {
+		t.Errorf("Keys = %q, %d", k, e)
+	}
+	for word, code := range map[string]api.Errno{"g": api.ErrKind, "zz": api.ErrNone, "a(0)": api.ErrKind, "a(9)": api.ErrNone, "g(1)": api.ErrKind} {
+		_, e := s.Keys(0, word, "*")
+		want(t, "Keys of "+word, e, code)
+	}
+	want(t, "Dump", s.Dump(0), "a {a {0 z 10 y}} g {s 2} out {s kept}")
+	p, _ := s.Place(c, "x")
+	g, _ := s.Place(0, "g")
+	want(t, "one place", p, g)
+	a, _ := s.Place(0, "a(0)")
+	whole, is := a.Whole()
+	all, _ := s.Place(0, "a")
+	want(t, "the whole", whole, all)
+	want(t, "an element", is, true)
+}
