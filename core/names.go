@@ -313,3 +313,26 @@ func (x *Machine) Expose(hidden, as string) api.Errno { return x.table.Expose(hi
 
 // HiddenNames returns the hidden names that a pattern matches.
 func (x *Machine) HiddenNames(pattern string) []string { return x.table.Hidden(pattern) }
+
+// Element returns the spot of an element of an array.
+func (x *Machine) Element(s Spot, index string) Spot {
+	used := s.Used + "(" + index + ")"
+	name, _, element := vars.Split(s.Word + "(" + index + ")")
+	if element && name == s.Word {
+		return Spot{s.Scope, s.Word + "(" + index + ")", used}
+	}
+	// a name with a parenthesis in it: its elements have no word, so another name leads to them
+	room := x.vars.Room(" ")
+	x.lastRoom++
+	other := strconv.Itoa(x.lastRoom)
+	x.vars.Link(room, other, s.Scope, s.Word)
+	return Spot{room, other + "(" + index + ")", used}
+}
+
+// MakeArray makes an array without elements of a variable that is not set.
+func (x *Machine) MakeArray(s Spot) {
+	e := x.Element(s, "")
+	x.noteWrite(e)
+	x.vars.Set(e.Scope, e.Word, "")
+	x.vars.Unset(e.Scope, e.Word)
+}
