@@ -8,11 +8,24 @@ import (
 	"threadbare/vars"
 )
 
-// Spot is where a variable's word leads to; Used is the word as it was used.
+// Spot is where a variable's word leads to; Used is the word as it was used. Of an element that was found by its
+// array, Array is how that was called, and Index its own index.
 type Spot struct {
-	Scope int
-	Word  string
-	Used  string
+	Scope   int
+	Word    string
+	Used    string
+	Array   string
+	Index   string
+	Element bool
+}
+
+// Parts returns the name of the variable, or of the array, as it was used, and the index.
+func (s Spot) Parts() (name, index string) {
+	if s.Element {
+		return s.Array, s.Index
+	}
+	name, index, _ = vars.Split(s.Used)
+	return name, index
 }
 
 // Tree returns the namespaces; who changes them says so by Changed.
@@ -54,7 +67,7 @@ func (x *Machine) Spot(word string) (Spot, api.Outcome) { return x.SpotAt(x.fram
 // SpotAt returns where a variable's word leads to from a frame.
 func (x *Machine) SpotAt(f *Frame, word string) (Spot, api.Outcome) {
 	if plain(word) {
-		return Spot{f.Scope, word, word}, api.Outcome{}
+		return Spot{Scope: f.Scope, Word: word, Used: word}, api.Outcome{}
 	}
 	name, _, _ := vars.Split(word)
 	path := name
@@ -65,7 +78,7 @@ func (x *Machine) SpotAt(f *Frame, word string) (Spot, api.Outcome) {
 	if !x.tree.Exists(head) {
 		return Spot{}, Fail("namespace", head)
 	}
-	return Spot{x.Room(head), tail + word[len(name):], word}, api.Outcome{}
+	return Spot{Scope: x.Room(head), Word: tail + word[len(name):], Used: word}, api.Outcome{}
 }
 
 func variableError(e api.Errno, word string) api.Outcome {
@@ -316,17 +329,17 @@ func (x *Machine) HiddenNames(pattern string) []string { return x.table.Hidden(p
 
 // Element returns the spot of an element of an array.
 func (x *Machine) Element(s Spot, index string) Spot {
-	used := s.Used + "(" + index + ")"
-	name, _, element := vars.Split(s.Word + "(" + index + ")")
-	if element && name == s.Word {
-		return Spot{s.Scope, s.Word + "(" + index + ")", used}
+	out := Spot{Scope: s.Scope, Word: s.Word + "(" + index + ")", Used: s.Used + "(" + index + ")", Array: s.Used, Index: index, Element: true}
+	if name, _, element := vars.Split(out.Word); element && name == s.Word {
+		return out
 	}
 	// a name with a parenthesis in it: its elements have no word, so another name leads to them
 	room := x.vars.Room(" ")
 	x.lastRoom++
 	other := strconv.Itoa(x.lastRoom)
 	x.vars.Link(room, other, s.Scope, s.Word)
-	return Spot{room, other + "(" + index + ")", used}
+	out.Scope, out.Word = room, other+"("+index+")"
+	return out
 }
 
 // MakeArray makes an array without elements of a variable that is not set.
