@@ -13,6 +13,7 @@ type Tracer struct {
 	Unset   func(x *Machine, s Spot) api.Outcome
 	Renamed func(x *Machine, n int, old, new string) api.Outcome
 	Gone    func(x *Machine, n int, old string) api.Outcome
+	Forget  func(x *Machine, n int)
 	Enter   func(x *Machine, n int, words []string) api.Outcome
 	Leave   func(x *Machine, n int, words []string, o api.Outcome) api.Outcome
 }

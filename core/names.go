@@ -273,6 +273,28 @@ func (x *Machine) Delete(name string) (api.Errno, api.Outcome) {
 	return api.OK, x.buried(l)
 }
 
+// Remove takes a command away without telling it, whether it is hidden or not.
+func (x *Machine) Remove(n int) {
+	l := x.goners(n)
+	name, hidden, there := x.table.Name(n)
+	if !there {
+		return
+	}
+	if hidden {
+		// a name that nobody else has
+		free := " " + strconv.Itoa(n)
+		x.table.Expose(name, free)
+		name = free
+	}
+	x.table.Delete(name)
+	for _, g := range l {
+		delete(x.commands, g.number)
+		if x.tracer.Forget != nil {
+			x.tracer.Forget(x, g.number)
+		}
+	}
+}
+
 // Define makes a command with a canonical name, in the place of one that has it.
 func (x *Machine) Define(name string, do Do, data any) (int, api.Outcome) {
 	l := x.goners(x.table.Find(name))

@@ -56,7 +56,8 @@ func (a Asker) Pattern(i int) string {
 	return "*"
 }
 
-const far = 1 << 62
+// Far is what Int tells of numbers that fit no int; their opposites below 0.
+const Far = 1 << 62
 
 // Int returns a number as an int; one that does not fit is a far one.
 func Int(s string) (int, api.Outcome) {
@@ -71,5 +72,5 @@ func Int(s string) (int, api.Outcome) {
 	case api.ErrLimit:
 		return 0, Problem("long")
 	}
-	return far * below, api.Outcome{}
+	return Far * below, api.Outcome{}
 }

@@ -41,7 +41,7 @@ func bookOf(x *core.Machine) *book {
 
 func install(x *core.Machine) {
 	b := bookOf(x)
-	x.Lay(core.Tracer{Read: b.read, Write: b.write, Unset: b.unset, Renamed: b.renamed, Gone: b.went, Enter: b.enter, Leave: b.leave})
+	x.Lay(core.Tracer{Read: b.read, Write: b.write, Unset: b.unset, Renamed: b.renamed, Gone: b.went, Forget: b.forget, Enter: b.enter, Leave: b.leave})
 }
 
 // live yields the traces of an operation that are still there when it is their turn.
@@ -184,6 +184,15 @@ func (b *book) went(x *core.Machine, n int, old string) api.Outcome {
 	end(b.commands[k])
 	delete(b.commands, k)
 	return o
+}
+
+// forget takes the traces of a command away that goes without being told.
+func (b *book) forget(x *core.Machine, n int) {
+	for _, kind := range []string{"command", "execution"} {
+		k := key{x, n, kind}
+		end(b.commands[k])
+		delete(b.commands, k)
+	}
 }
 
 func (b *book) enter(x *core.Machine, n int, words []string) api.Outcome {
