@@ -38,6 +38,7 @@ type Frame struct {
 	Level int
 	Up    *Frame
 	Words []string
+	Data  any // what a layer knows of it
 }
 
 // compiled is code that was made of a text, or why there is none.
