@@ -211,6 +211,11 @@ func (x *Machine) CallIn(space string, words []string) api.Outcome {
 	if len(words) > api.MaxList {
 		return Problem("long")
 	}
+	return x.CallAny(space, words)
+}
+
+// CallAny is CallIn of at least one word, however many there are.
+func (x *Machine) CallAny(space string, words []string) api.Outcome {
 	if o := x.Step(); Bad(o) {
 		return o
 	}
@@ -219,6 +224,16 @@ func (x *Machine) CallIn(space string, words []string) api.Outcome {
 		return x.unknown(words)
 	}
 	return x.Do(n, words)
+}
+
+// Nested does something that counts as a script.
+func (x *Machine) Nested(do func() api.Outcome) api.Outcome {
+	if x.depth >= api.MaxDeep {
+		return Problem("deep")
+	}
+	x.depth++
+	defer func() { x.depth-- }()
+	return do()
 }
 
 // unknown does what is to be done where a first word names no command.
