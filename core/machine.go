@@ -78,9 +78,10 @@ type Machine struct {
 	limited  bool
 	limit    int
 	keeps    bool
-	scripts  map[string]*compiled
-	exprs    map[string]*compiled
-	values   map[string]*value.Value
+	scripts  *shelf[*compiled]
+	exprs    *shelf[*compiled]
+	values   *shelf[*value.Value]
+	joined   *shelf[int] // how many elements canonical lists have
 	known    map[found]int
 	epoch    int
 	changes  int
@@ -219,7 +220,7 @@ func (x *Machine) Forget() {
 	if x == nil {
 		return
 	}
-	x.scripts, x.exprs, x.values, x.known = map[string]*compiled{}, map[string]*compiled{}, map[string]*value.Value{}, map[found]int{}
+	x.scripts, x.exprs, x.values, x.joined, x.known = newShelf[*compiled](), newShelf[*compiled](), newShelf[*value.Value](), newShelf[int](), map[found]int{}
 	for _, c := range x.below() {
 		c.Forget()
 	}

@@ -42,20 +42,29 @@ func short(s string) api.Outcome {
 	return Done(s)
 }
 
-const maxKept = 1000
+// shelf is what was made of texts, by these; it is emptied where the texts become too long together.
+type shelf[T any] struct {
+	made  map[string]T
+	bytes int
+}
+
+const maxKept = 512 * 1024
+
+func newShelf[T any]() *shelf[T] { return &shelf[T]{made: map[string]T{}} }
 
 // kept returns what was made of a text before, or makes it.
-func kept[T any](x *Machine, in map[string]T, s string, make func() T) T {
+func kept[T any](x *Machine, in *shelf[T], s string, make func() T) T {
 	if !x.keeps {
 		return make()
 	}
-	got, ok := in[s]
+	got, ok := in.made[s]
 	if !ok {
-		if len(in) >= maxKept {
-			clear(in)
+		if in.bytes += len(s) + 64; in.bytes > maxKept {
+			clear(in.made)
+			in.bytes = len(s)
 		}
 		got = make()
-		in[s] = got
+		in.made[s] = got
 	}
 	return got
 }
@@ -127,6 +136,39 @@ func (x *Machine) List(s string) ([]string, api.Outcome) {
 	}
 	l, e := kept(x, x.values, s, func() *value.Value { return value.New(s) }).List()
 	return l, listError(e, s)
+}
+
+// Appended is the outcome of a list with more elements behind. Where the list is known to be one that was joined
+// before, nothing of it is read again.
+func (x *Machine) Appended(s string, more []string) api.Outcome {
+	n, known := x.joined.made[s]
+	if !known || !x.keeps {
+		l, o := x.List(s)
+		if Bad(o) {
+			return o
+		}
+		o = Join(append(l, more...))
+		if !Bad(o) {
+			x.noteJoined(o.Text, len(l)+len(more))
+		}
+		return o
+	}
+	tail, e := list.Join(more)
+	if e != api.OK || n+len(more) > api.MaxList {
+		return Problem("long")
+	}
+	if s != "" && len(more) > 0 {
+		s += " "
+	}
+	if s += tail; len(s) > api.MaxText {
+		return Problem("long")
+	}
+	x.noteJoined(s, n+len(more))
+	return Done(s)
+}
+
+func (x *Machine) noteJoined(s string, n int) {
+	kept(x, x.joined, s, func() int { return n })
 }
 
 func listError(e api.Errno, s string) api.Outcome {
