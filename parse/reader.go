@@ -31,8 +31,8 @@ func newReader(s string) *reader {
 }
 
 // caught turns the panic of a reader into results.
-func caught(at *int, e *api.Errno, noEnd *bool) {
-	switch p := recover().(type) {
+func caught(panicked any, at *int, e *api.Errno, noEnd *bool) {
+	switch p := panicked.(type) {
 	case nil:
 	case stop:
 		*at, *e, *noEnd = p.at, p.e, p.noEnd

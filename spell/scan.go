@@ -196,7 +196,7 @@ func Scan(s, spec string) (l []string, done int, e api.Errno) {
 			l, done = nil, 0
 		}
 	}()
-	defer caught(&at, &e)
+	defer func() { caught(recover(), &at, &e) }()
 	parts, _, e := fields(spec)
 	if e != api.OK {
 		return nil, 0, e

@@ -17,8 +17,8 @@ type wrong struct {
 }
 
 // caught turns that into results.
-func caught(at *int, e *api.Errno) {
-	switch p := recover().(type) {
+func caught(panicked any, at *int, e *api.Errno) {
+	switch p := panicked.(type) {
 	case nil:
 	case wrong:
 		*at, *e = p.at, p.e
@@ -232,7 +232,7 @@ func zeros(digits string, least int) string {
 
 // Format writes arguments by a specification.
 func Format(spec string, args []string) (s string, at int, e api.Errno) {
-	defer caught(&at, &e)
+	defer func() { caught(recover(), &at, &e) }()
 	known := letters()
 	taken := 0
 	take := func(c conversion) string {
@@ -291,7 +291,7 @@ func (c *conversion) starred(take func(conversion) string) {
 // Needs returns how many arguments a specification takes.
 func Needs(spec string) (n int, e api.Errno) {
 	at := 0
-	defer caught(&at, &e)
+	defer func() { caught(recover(), &at, &e) }()
 	most := 0
 	for c := range conversions(spec) {
 		if c.letter == 0 || c.letter == '%' {
@@ -309,7 +309,7 @@ func Needs(spec string) (n int, e api.Errno) {
 
 // Check returns where the first conversion that is none begins.
 func Check(spec string, scan bool) (at int, e api.Errno) {
-	defer caught(&at, &e)
+	defer func() { caught(recover(), &at, &e) }()
 	if scan {
 		_, at, e = fields(spec)
 		return at, e
