@@ -107,7 +107,8 @@ type wrong struct{ at int }
 type reader struct {
 	p                            string
 	at, groups, deepest, looking int
-	refers, looks                bool
+	refers                       [10]bool
+	looks                        bool
 }
 
 // pattern is one that was read.
@@ -115,8 +116,8 @@ type pattern struct {
 	top    node
 	groups int
 	size   int
-	short  bool // it has a back reference or a look ahead
-	refers bool
+	short  bool  // it has a back reference or a look ahead
+	refers []int // the groups that back references ask for
 }
 
 func read(p string) (out *pattern, at int, e api.Errno) {
@@ -138,7 +139,14 @@ func read(p string) (out *pattern, at int, e api.Errno) {
 	if r.groups > maxGroups || r.deepest > api.MaxDeep || n > maxSize {
 		return nil, 0, api.ErrLimit
 	}
-	return &pattern{top, r.groups, n, r.refers || r.looks, r.refers}, 0, api.OK
+	out = &pattern{top: top, groups: r.groups, size: n}
+	for g, asked := range r.refers {
+		if asked {
+			out.refers = append(out.refers, g)
+		}
+	}
+	out.short = r.looks || len(out.refers) > 0
+	return out, 0, api.OK
 }
 
 func (r *reader) more() bool { return r.at < len(r.p) }
@@ -313,6 +321,6 @@ func (r *reader) escape() node {
 	if n < 1 || n > 9 || n > r.groups || r.looking > 0 {
 		panic(wrong{slash})
 	}
-	r.refers = true
+	r.refers[n] = true
 	return backward{n}
 }

@@ -2,10 +2,12 @@ package regex
 
 import "threadbare/api"
 
-// try is where a split was tried: with which groups, where that counts, and with how many rounds that took nothing yet.
+// try is where a split was tried: with what groups that are asked for later, and where those that are open began, and
+// with how many rounds that took nothing yet (its row tells that).
 type try struct {
 	row, at int
-	groups  [3 * 10]uint8
+	groups  [10]uint16
+	opens   [10]uint8
 }
 
 type ahead struct{ pc, at int }
@@ -29,10 +31,11 @@ type run struct {
 	bits   [][]uint64   // what was tried in vain: bytes of rows
 	tried  map[try]bool // likewise, where groups count or the text is short
 	seen   map[ahead]bool
+	texts  map[string]uint16 // what groups were, by numbers: where it stands does not count
 }
 
 func newRun(g *program, s string, whole bool) *run {
-	r := &run{program: g, s: s, whole: whole, seen: map[ahead]bool{}}
+	r := &run{program: g, s: s, whole: whole, seen: map[ahead]bool{}, texts: map[string]uint16{}}
 	r.spans = make([]int, 2*g.groups+2)
 	r.opens = make([]int, g.groups+1)
 	r.rounds = make([]int, g.most)
@@ -49,7 +52,24 @@ func (r *run) clear() {
 	for i := range r.spans {
 		r.spans[i] = -1
 	}
+	for i := range r.opens {
+		r.opens[i] = -1
+	}
 	r.stack = r.stack[:0]
+}
+
+// text returns the number of what a group was; 0 if it was not passed.
+func (r *run) text(g int) uint16 {
+	if r.spans[2*g] < 0 {
+		return 0
+	}
+	is := r.s[r.spans[2*g]:r.spans[2*g+1]]
+	n, ok := r.texts[is]
+	if !ok {
+		n = uint16(len(r.texts) + 1)
+		r.texts[is] = n
+	}
+	return n
 }
 
 // again reports whether a split was tried here already, and notes that it is.
@@ -68,10 +88,8 @@ func (r *run) again(in *instruction, at int) bool {
 		return was
 	}
 	t := try{row: row, at: at}
-	if r.refers {
-		for g := 1; g < min(len(r.opens), 10); g++ {
-			t.groups[3*g], t.groups[3*g+1], t.groups[3*g+2] = uint8(r.spans[2*g]), uint8(r.spans[2*g+1]), uint8(r.opens[g])
-		}
+	for _, g := range r.refers {
+		t.groups[g], t.opens[g] = r.text(g), uint8(r.opens[g]+1)
 	}
 	was := r.tried[t]
 	r.tried[t] = true
@@ -143,6 +161,7 @@ func (r *run) step(in *instruction, pc, at int) (int, int, bool) {
 	case iClose:
 		r.set(&r.spans[2*in.a], r.opens[in.a])
 		r.set(&r.spans[2*in.a+1], at)
+		r.set(&r.opens[in.a], -1)
 	case iStart:
 		r.set(&r.rounds[in.a], at)
 	case iForward:
