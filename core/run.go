@@ -111,11 +111,11 @@ func (x *Machine) Condition(s string) (bool, api.Outcome) {
 	return is, o
 }
 
-// Word evaluates tokens as those of a word.
+// Word evaluates tokens as those of a word. (Tokens that were read have no wrong scripts.)
 func (x *Machine) Word(tokens []api.Token) api.Outcome {
 	c, e := code.Word(api.Word{Tokens: tokens})
 	if e != api.OK {
-		return Problem("script: ")
+		return Fail("script", "")
 	}
 	return x.run(c, true)
 }

@@ -37,7 +37,7 @@ type Asker struct {
 // Ask makes an asker.
 func Ask(x *Machine, words []string) Asker { return Asker{x, words} }
 
-// Word returns a word behind the sub word, from 0 on; empty if it is not there.
+// Arg returns a word behind the sub word, from 0 on; empty if it is not there.
 func (a Asker) Arg(i int) string {
 	if i+2 < len(a.Words) {
 		return a.Words[i+2]
