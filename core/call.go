@@ -240,10 +240,10 @@ func (x *Machine) Nested(do func() api.Outcome) api.Outcome {
 func (x *Machine) unknown(words []string) api.Outcome {
 	for _, space := range []string{x.frame.Space, "::"} {
 		s, _ := x.tree.Unknown(space)
-		l, _, _ := list.Split(s)
-		if len(l) == 0 {
+		if s == "" {
 			continue
 		}
+		l, _, _ := list.Split(s)
 		words = append(l, words...)
 		if len(words) > api.MaxList {
 			return Problem("long")

@@ -167,10 +167,11 @@ func (x *Machine) Unset(word string) api.Outcome {
 
 // UnsetSpot unsets the variable of a spot.
 func (x *Machine) UnsetSpot(s Spot) api.Outcome {
+	told := x.noteUnset(s)
 	if e := x.vars.Unset(s.Scope, s.Word); e != api.OK {
 		return variableError(e, s.Used)
 	}
-	x.noteUnset(s)
+	told()
 	if x.tracer.Unset == nil {
 		return api.Outcome{}
 	}
@@ -208,14 +209,21 @@ func (x *Machine) noteWrite(s Spot) {
 	}
 }
 
-func (x *Machine) noteUnset(s Spot) {
-	if len(x.watched) == 0 {
-		return
+// noteUnset finds what is unset with a spot: what is watched of that is told behind it.
+func (x *Machine) noteUnset(s Spot) (told func()) {
+	var gone []vars.Place
+	if len(x.watched) > 0 {
+		p, _ := x.vars.Place(s.Scope, s.Word)
+		for other := range x.watched {
+			whole, _ := other.Whole()
+			if other == p || whole == p && other.Kind() != 0 {
+				gone = append(gone, other)
+			}
+		}
 	}
-	p, _ := x.vars.Place(s.Scope, s.Word)
-	for other := range x.watched {
-		if whole, _ := other.Whole(); other == p || whole == p {
-			x.watched[other] = true
+	return func() {
+		for _, p := range gone {
+			x.watched[p] = true
 		}
 	}
 }

@@ -139,3 +139,13 @@ func TestOthers(t *testing.T) {
 		t.Errorf("Merge: %q, %q, %q", left, right, itself)
 	}
 }
+
+func TestLongPaths(t *testing.T) {
+	path := slices.Repeat([]string{"k"}, 1000000)
+	s, e := Set("", path, "v")
+	check(t, "Set of a path without end", s, e, "", api.ErrLimit)
+	s, e = Set("k x", path, "v")
+	check(t, "Set of such a path through no dictionary", s, e, "", api.ErrKind)
+	s, e = Set("k {k 1 j 2}", path[:2], "v")
+	check(t, "Set", s, e, "k {k v j 2}", 0)
+}

@@ -257,3 +257,23 @@ func TestGone(t *testing.T) {
 	}
 	none.Crash()
 }
+
+func TestFarPlaces(t *testing.T) {
+	s := NewStore()
+	s.Put("/f", "")
+	a, _ := s.Open("/f", "a+")
+	b, _ := s.Open("/f", "a")
+	s.Delete("/f", false)
+	half := strings.Repeat("x", 900000)
+	if s.Write(a, half) != api.OK || s.Write(b, half) != api.OK || s.Flush(a) != api.OK || s.Flush(b) != api.OK {
+		t.Fatal("a file that is gone does not grow")
+	}
+	if n, e := s.Seek(a, -1700000, "end"); n != 100000 || e != api.OK {
+		t.Errorf("Seek from the end of a long file: %d, %d", n, e)
+	}
+	for _, n := range []int{-1800001, 0, -1 << 63, 1<<63 - 1} {
+		if _, e := s.Seek(a, n, "end"); e != api.ErrRange {
+			t.Errorf("Seek of %d from the end: %d", n, e)
+		}
+	}
+}

@@ -185,8 +185,8 @@ func (s *Store) Seek(h, n int, from string) (int, api.Errno) {
 		return 0, e
 	}
 	base := map[string]int{"start": 0, "here": open.place, "end": len(open.bytes)}[from]
-	// far places are asked for first: their sum might not fit
-	if n < -api.MaxBytes || n > api.MaxBytes || base+n < 0 || base+n > api.MaxBytes {
+	// differences: the sum of far places might not fit
+	if n < -base || n > api.MaxBytes-base {
 		return 0, api.ErrRange
 	}
 	open.place = base + n

@@ -98,3 +98,43 @@ func TestOutside(t *testing.T) {
 		t.Errorf("Commands = %q", Commands())
 	}
 }
+
+func TestTurnsThatStop(t *testing.T) {
+	x := New()
+	told(x, "after 0 {set a 1; set b 2; set c 3}; after idle {set d 1}; after idle {set e 1; set f 1}")
+	if did, o := Turn(x, 2); !did || o.Code != api.CStop || told(x, "info vars ?") != "0 a" {
+		t.Errorf("a timer that was begun: %t, %v", did, o)
+	}
+	if did, o := Turn(x, 0); did || o.Code != api.CStop || told(x, "after info") != "0 after2 after3" {
+		t.Errorf("idle scripts without a step: %t, %v", did, o)
+	}
+	if did, o := Turn(x, 3); !did || o.Code != api.CStop || told(x, "list [after info] [info exists e]") != "0 {} 0" {
+		t.Errorf("idle scripts with too few steps: %t, %v", did, o)
+	}
+}
+
+func TestManyWait(t *testing.T) {
+	x := New()
+	if o := x.Eval("set n 0; while {[incr n] <= 9000} {after [expr {9000 - $n}] {incr done}; after idle {incr done}}; llength [after info]", 90000); o.Text != "long" {
+		t.Errorf("%v", o)
+	}
+	if got := told(x, "for {set i 1} {$i < 18000} {incr i 20} {after cancel after$i}; after info after18000"); got != "0 {incr done} idle" {
+		t.Error(got)
+	}
+	if o := Pass(x, 10000, api.MaxSteps); o.Code != api.COk || told(x, "list $done [after info] [now]") != "0 17100 {} 10000" {
+		t.Errorf("%v, %s", o, told(x, "list $done [now]"))
+	}
+}
+
+func TestWaitForElements(t *testing.T) {
+	for script, want := range map[string]string{
+		"set a(2) 1; after 5 {unset a}; after 7 {set a(1) 1}; vwait a(1); now": "0 7",
+		"set a(1) 1; after 5 {unset a}; after 7 {set a(1) 1}; vwait a(1); now": "0 5",
+		"after 5 {set a(2) 1}; after 7 {set a(1) 1}; vwait a(1); now":          "0 7",
+		"after 5 {catch {unset x}}; after 7 {set x 1}; vwait x; now":           "0 7",
+	} {
+		if got := told(New(), script); got != want {
+			t.Errorf("%q: %s", script, got)
+		}
+	}
+}

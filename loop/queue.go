@@ -15,15 +15,20 @@ import (
 // waiter is what waits to be done: a timer, or an idle script.
 type waiter interface{ id() string }
 
-type timer struct {
-	name, script string
-	due          int
+// entry is what all that waits has: a number, by which it was made, and a script.
+type entry struct {
+	number int
+	script string
 }
 
-type idle struct{ name, script string }
+type timer struct {
+	entry
+	due int
+}
 
-func (t *timer) id() string { return t.name }
-func (i *idle) id() string  { return i.name }
+type idle struct{ entry }
+
+func (e entry) id() string { return "after" + strconv.Itoa(e.number) }
 
 // slot is where a channel's script is: which of its two.
 type slot struct {
@@ -31,10 +36,12 @@ type slot struct {
 	writable bool
 }
 
-// queue is a machine's time, and what waits.
+// queue is a machine's time, and what waits: timers by the times at which they are due, idle scripts as they were made.
 type queue struct {
 	now, last  int
-	waiting    []waiter
+	names      map[string]waiter
+	timers     []*timer
+	idles      []*idle
 	scripts    map[slot]string
 	done       map[slot]int // in this round, with the raw bytes that waited at the beginning
 	background []string
@@ -44,67 +51,104 @@ func queueOf(x *core.Machine) *queue {
 	if q, ok := x.Part("loop").(*queue); ok {
 		return q
 	}
-	q := &queue{scripts: map[slot]string{}, done: map[slot]int{}}
+	q := &queue{names: map[string]waiter{}, scripts: map[slot]string{}, done: map[slot]int{}}
 	x.Keep("loop", q)
 	return q
 }
 
-// add lets something wait; it is made with its name.
-func (q *queue) add(made func(name string) waiter) string {
+// add lets something wait; it is made with what all of that has.
+func (q *queue) add(script string, made func(e entry) waiter) string {
 	q.last++
-	w := made("after" + strconv.Itoa(q.last))
-	q.waiting = append(q.waiting, w)
+	w := made(entry{q.last, script})
+	switch w := w.(type) {
+	case *timer:
+		q.timers = slices.Insert(q.timers, place(q.timers, w, sooner), w)
+	case *idle:
+		q.idles = append(q.idles, w)
+	}
+	q.names[w.id()] = w
 	return w.id()
 }
 
-func (q *queue) find(name string) int {
-	return slices.IndexFunc(q.waiting, func(w waiter) bool { return w.id() == name })
-}
-
+// cancel takes something away, if it is there.
 func (q *queue) cancel(name string) {
-	if at := q.find(name); at >= 0 {
-		q.waiting = slices.Delete(slices.Clone(q.waiting), at, at+1)
+	switch w := q.names[name].(type) {
+	case *timer:
+		at := place(q.timers, w, sooner)
+		q.timers = without(q.timers, at)
+	case *idle:
+		at := place(q.idles, w, func(a, b *idle) bool { return a.number < b.number })
+		q.idles = without(q.idles, at)
 	}
+	delete(q.names, name)
 }
 
-// first returns the one of several that comes before all others; of equal ones the first.
-func first[T any](l []T, before func(a, b T) bool) (out T, ok bool) {
-	for i, one := range l {
-		if i == 0 || before(one, out) {
-			out, ok = one, true
+// without returns a list without one; the first one costs nothing.
+func without[T any](l []T, at int) []T {
+	if at == 0 {
+		return l[1:]
+	}
+	return slices.Delete(l, at, at+1)
+}
+
+// all returns the names of all that waits, in the order in which it was made.
+func (q *queue) all() []string {
+	var numbers []int
+	for _, t := range q.timers {
+		numbers = append(numbers, t.number)
+	}
+	for _, i := range q.idles {
+		numbers = append(numbers, i.number)
+	}
+	slices.Sort(numbers)
+	out := make([]string, len(numbers))
+	for i, n := range numbers {
+		out[i] = entry{number: n}.id()
+	}
+	return out
+}
+
+// place returns where one stands, or would stand, in an ordered list: behind all that come before it.
+func place[T any](l []T, one T, before func(a, b T) bool) int {
+	from, to := 0, len(l)
+	for from < to {
+		if mid := (from + to) / 2; before(l[mid], one) {
+			from = mid + 1
+		} else {
+			to = mid
 		}
 	}
-	return out, ok
+	return from
 }
+
+// sooner is the order of timers: by time, those of one time as they were made.
+func sooner(a, b *timer) bool { return a.due < b.due || a.due == b.due && a.number < b.number }
 
 // earliest returns the timer that is due earliest.
 func (q *queue) earliest() (*timer, bool) {
-	var l []*timer
-	for _, w := range q.waiting {
-		if t, ok := w.(*timer); ok {
-			l = append(l, t)
-		}
+	if len(q.timers) == 0 {
+		return nil, false
 	}
-	return first(l, func(a, b *timer) bool { return a.due < b.due })
+	return q.timers[0], true
 }
 
 // pass lets the time go on, not beyond its end.
 func (q *queue) pass(ms int) { q.now = min(q.now+min(max(ms, 0), api.MaxTime), api.MaxTime) }
 
-// event does an event: a step, then what takes it out, then its script.
-func event(x *core.Machine, take func() string) api.Outcome {
+// event does an event: a step, then what takes it out, then its script. Without a step it is not done.
+func event(x *core.Machine, take func() string) (bool, api.Outcome) {
 	if o := x.Step(); core.Bad(o) {
-		return o
+		return false, o
 	}
 	script := take()
 	o := x.At(x.Global(), func() api.Outcome { return x.Caught(x.Script(script)) })
 	switch o.Code {
 	case api.CStop:
-		return o
+		return true, o
 	case api.CError:
-		return failed(x, o.Text)
+		return true, failed(x, o.Text)
 	}
-	return api.Outcome{}
+	return true, api.Outcome{}
 }
 
 // failed notes an error of an event, and does the command of bgerror.
@@ -157,17 +201,17 @@ func (q *queue) ready(x *core.Machine) iter.Seq2[slot, int] {
 	}
 }
 
-// turn does one turn: whether something was found, and how it ended (COk, or CStop).
+// turn does one turn: whether something was done, and how it ended (COk, or CStop).
 func turn(x *core.Machine) (bool, api.Outcome) {
 	q := queueOf(x)
 	if t, ok := q.earliest(); ok && t.due <= q.now {
-		return true, event(x, func() string {
-			q.cancel(t.name)
+		return event(x, func() string {
+			q.cancel(t.id())
 			return t.script
 		})
 	}
 	for s, waiting := range q.ready(x) {
-		return true, event(x, func() string {
+		return event(x, func() string {
 			q.done[s] = waiting
 			return q.scripts[s]
 		})
@@ -180,20 +224,17 @@ func turn(x *core.Machine) (bool, api.Outcome) {
 func idleTurn(x *core.Machine) (bool, api.Outcome) {
 	q := queueOf(x)
 	found := false
-	for _, w := range q.waiting {
-		switch i := w.(type) {
-		case *idle:
-			if q.find(i.name) < 0 {
-				continue // cancelled meanwhile
-			}
-			found = true
-			o := event(x, func() string {
-				q.cancel(i.name)
-				return i.script
-			})
-			if core.Bad(o) {
-				return found, o
-			}
+	for _, i := range slices.Clone(q.idles) {
+		if q.names[i.id()] == nil {
+			continue // cancelled meanwhile
+		}
+		done, o := event(x, func() string {
+			q.cancel(i.id())
+			return i.script
+		})
+		found = found || done
+		if core.Bad(o) {
+			return found, o
 		}
 	}
 	return found, api.Outcome{}

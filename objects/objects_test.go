@@ -77,3 +77,18 @@ func TestOrders(t *testing.T) {
 		t.Errorf("Commands = %q", Commands())
 	}
 }
+
+func TestNamesAndEnds(t *testing.T) {
+	for script, want := range map[string]string{
+		"class create a {{method p args {lappend ::l [self method]; next {*}$args}} {method f {} {lappend ::l [self method]}} {filter p}}; [a new] f; set l": "0 p f",
+		"class create a {{constructor {} {lappend ::l [self method]}} {destructor {lappend ::l [self method]}}}; object delete [a new]; set l":               "0 constructor destructor",
+		"set n 0; class create a {{destructor {if {[incr ::n] < 3} {a new}}}}; a new; class delete a; list $n [info commands ::oo::*] [catch {a new}]":       "0 3 {} 1",
+		"class create a {{destructor {class delete a; lappend ::l d}}}; a create o; class delete a; list $l [info commands a] [info commands o]":             "0 d {} {}",
+		"class create a {{destructor {class create b {{superclass a}}}}}; a new; class delete a; info commands b":                                            "0 ",
+	} {
+		o := New().Eval(script, 2000)
+		if got := fmt.Sprintf("%d %s", o.Code, o.Text); got != want {
+			t.Errorf("%q: %q, not %q", script, got, want)
+		}
+	}
+}

@@ -78,9 +78,10 @@ func firstPlaces[T comparable](l []T) []T {
 	return out
 }
 
-// entry is one of a chain; its class is nil for the object's own.
+// entry is one of a chain: a method with its name; its class is nil for the object's own.
 type entry struct {
 	*method
+	name  string
 	class *class
 }
 
@@ -99,7 +100,7 @@ func (o *object) named(name string) []entry {
 			m = c.methods[name]
 		}
 		if m != nil {
-			out = append(out, entry{m, c})
+			out = append(out, entry{m, name, c})
 		}
 	}
 	return out
@@ -126,12 +127,12 @@ func (o *object) chain(name string) []entry {
 	return append(out, own...)
 }
 
-// special returns the chain of constructors or destructors.
-func (o *object) special(which func(c *class) *method) []entry {
+// special returns the chain of constructors or destructors, by a name of theirs.
+func (o *object) special(name string, which func(c *class) *method) []entry {
 	var out []entry
 	for _, c := range o.holders() {
 		if c != nil && which(c) != nil {
-			out = append(out, entry{which(c), c})
+			out = append(out, entry{which(c), name, c})
 		}
 	}
 	return out
@@ -140,7 +141,6 @@ func (o *object) special(which func(c *class) *method) []entry {
 // call is a method that was called, with its chain.
 type call struct {
 	*object
-	name  string
 	chain []entry
 }
 
@@ -189,7 +189,7 @@ func (o *object) invoke(x *core.Machine, name string, words, args []string) api.
 	if len(chain) == 0 {
 		return core.Fail("method", name)
 	}
-	return turn{&call{o, name, chain}, 0}.do(x, words, args)
+	return turn{&call{o, chain}, 0}.do(x, words, args)
 }
 
 // nameOf returns what the command of a class or an object is called; empty if it is gone.
@@ -263,8 +263,8 @@ func (w *world) destroy(x *core.Machine, o *object, words []string) api.Outcome 
 		return api.Outcome{}
 	}
 	o.dying = true
-	chain := o.special(func(c *class) *method { return c.destruct })
-	out := turn{&call{o, "destructor", chain}, 0}.do(x, words, nil)
+	chain := o.special("destructor", func(c *class) *method { return c.destruct })
+	out := turn{&call{o, chain}, 0}.do(x, words, nil)
 	if out.Code == api.CStop {
 		o.dying = false
 		return out
@@ -289,15 +289,30 @@ func (w *world) below(x *core.Machine, c *class) []*class {
 	return l
 }
 
-// remove takes a class away, with those below it and its objects.
-func (w *world) remove(x *core.Machine, c *class, words []string) api.Outcome {
-	for l := w.below(x, c); len(l) > 0; l = w.below(x, c) {
-		if o := w.remove(x, l[0], words); core.Bad(o) {
-			return o
-		}
+// next returns what is to go before a class can go: a class below it, or an object of it whose destructors are not being
+// done already.
+func (w *world) next(x *core.Machine, c *class) (*class, *object) {
+	if l := w.below(x, c); len(l) > 0 {
+		return l[0], nil
 	}
 	for _, o := range w.instances(c) {
-		if out := w.destroy(x, o, words); core.Bad(out) {
+		if !o.dying {
+			return nil, o
+		}
+	}
+	return nil, nil
+}
+
+// remove takes a class away, with those below it and its objects, also such as destructors make meanwhile.
+func (w *world) remove(x *core.Machine, c *class, words []string) api.Outcome {
+	for below, o := w.next(x, c); below != nil || o != nil; below, o = w.next(x, c) {
+		out := api.Outcome{}
+		if below != nil {
+			out = w.remove(x, below, words)
+		} else {
+			out = w.destroy(x, o, words)
+		}
+		if core.Bad(out) {
 			return out
 		}
 	}

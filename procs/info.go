@@ -209,13 +209,10 @@ func (t table) set() api.Outcome {
 		return core.Fail("dict", t.Arg(1))
 	}
 	_, _, element := core.Split(t.spot.Word)
-	if element || t.kind() == 1 {
+	if element || t.kind() == 1 || !t.arrayable() {
 		return core.Fail("array", t.Arg(0))
 	}
 	if len(pairs) == 0 && t.kind() == 0 {
-		if t.Vars().Linked(t.spot.Scope, t.spot.Word) && !t.arrayable() {
-			return core.Fail("array", t.Arg(0))
-		}
 		t.MakeArray(t.spot)
 	}
 	for i := 0; i < len(pairs); i += 2 {
@@ -226,8 +223,11 @@ func (t table) set() api.Outcome {
 	return api.Outcome{}
 }
 
-// arrayable reports whether a link leads to a whole variable: an element becomes no array.
+// arrayable reports whether a name leads to a whole variable: an element becomes no array.
 func (t table) arrayable() bool {
+	if !t.Vars().Linked(t.spot.Scope, t.spot.Word) {
+		return true
+	}
 	p, _ := t.Vars().Place(t.spot.Scope, t.spot.Word)
 	_, element := p.Whole()
 	return !element
