@@ -10,10 +10,9 @@ import (
 	"threadbare/value"
 )
 
-// operator does what its sign says; level is that of an operator of two operands.
+// operator is one of two operands: it does what its sign says.
 type operator struct {
-	level int
-	do    func(a, b string) (result, problem string)
+	do func(a, b string) (result, problem string)
 }
 
 // single is an operator before one operand.
@@ -54,8 +53,8 @@ func reckoned(result string, e api.Errno, last string, args ...string) (string, 
 	return "", "long"
 }
 
-func binary(level int, do func(a, b string) (string, api.Errno)) operator {
-	return operator{level, func(a, b string) (string, string) {
+func binary(do func(a, b string) (string, api.Errno)) operator {
+	return operator{func(a, b string) (string, string) {
 		result, e := do(a, b)
 		return reckoned(result, e, b, a, b)
 	}}
@@ -90,12 +89,12 @@ func bit(b bool) string {
 	return "0"
 }
 
-func order(level int, is func(n int) bool) operator {
-	return operator{level, func(a, b string) (string, string) { return bit(is(compared(a, b))), "" }}
+func order(is func(n int) bool) operator {
+	return operator{func(a, b string) (string, string) { return bit(is(compared(a, b))), "" }}
 }
 
 func element(want bool) operator {
-	return operator{6, func(a, b string) (string, string) {
+	return operator{func(a, b string) (string, string) {
 		l, _, e := list.Split(b)
 		if e != api.OK {
 			return "", told("list", b)
@@ -106,25 +105,25 @@ func element(want bool) operator {
 
 func binaries() map[string]operator {
 	return map[string]operator{
-		"+":  binary(10, big.Add),
-		"-":  binary(10, big.Sub),
-		"*":  binary(11, big.Mul),
-		"/":  binary(11, func(a, b string) (string, api.Errno) { q, _, e := big.Div(a, b); return q, e }),
-		"%":  binary(11, func(a, b string) (string, api.Errno) { _, r, e := big.Div(a, b); return r, e }),
-		"**": binary(12, big.Pow),
-		"<<": binary(9, func(a, b string) (string, api.Errno) { return shift(a, b, 1) }),
-		">>": binary(9, func(a, b string) (string, api.Errno) { return shift(a, b, -1) }),
-		"&":  binary(5, big.And),
-		"|":  binary(3, big.Or),
-		"^":  binary(4, big.Xor),
-		"<":  order(8, func(n int) bool { return n < 0 }),
-		">":  order(8, func(n int) bool { return n > 0 }),
-		"<=": order(8, func(n int) bool { return n <= 0 }),
-		">=": order(8, func(n int) bool { return n >= 0 }),
-		"==": order(7, func(n int) bool { return n == 0 }),
-		"!=": order(7, func(n int) bool { return n != 0 }),
-		"eq": {6, func(a, b string) (string, string) { return bit(a == b), "" }},
-		"ne": {6, func(a, b string) (string, string) { return bit(a != b), "" }},
+		"+":  binary(big.Add),
+		"-":  binary(big.Sub),
+		"*":  binary(big.Mul),
+		"/":  binary(func(a, b string) (string, api.Errno) { q, _, e := big.Div(a, b); return q, e }),
+		"%":  binary(func(a, b string) (string, api.Errno) { _, r, e := big.Div(a, b); return r, e }),
+		"**": binary(big.Pow),
+		"<<": binary(func(a, b string) (string, api.Errno) { return shift(a, b, 1) }),
+		">>": binary(func(a, b string) (string, api.Errno) { return shift(a, b, -1) }),
+		"&":  binary(big.And),
+		"|":  binary(big.Or),
+		"^":  binary(big.Xor),
+		"<":  order(func(n int) bool { return n < 0 }),
+		">":  order(func(n int) bool { return n > 0 }),
+		"<=": order(func(n int) bool { return n <= 0 }),
+		">=": order(func(n int) bool { return n >= 0 }),
+		"==": order(func(n int) bool { return n == 0 }),
+		"!=": order(func(n int) bool { return n != 0 }),
+		"eq": {func(a, b string) (string, string) { return bit(a == b), "" }},
+		"ne": {func(a, b string) (string, string) { return bit(a != b), "" }},
 		"in": element(true),
 		"ni": element(false),
 	}
@@ -215,7 +214,7 @@ func one(s single) function {
 }
 
 func pair(do func(a, b string) (string, api.Errno)) function {
-	return function{2, 2, func(args []string) (string, string) { return binary(0, do).do(args[0], args[1]) }}
+	return function{2, 2, func(args []string) (string, string) { return binary(do).do(args[0], args[1]) }}
 }
 
 func functions() map[string]function {
