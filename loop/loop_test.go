@@ -138,3 +138,30 @@ func TestWaitForElements(t *testing.T) {
 		}
 	}
 }
+
+func TestManyWaits(t *testing.T) {
+	x := New()
+	if o := x.Eval("for {set i 0} {$i < 150} {incr i} {after 0 {set x 1}; vwait x}; set i", 5000); o.Text != "150" {
+		t.Errorf("waits one after the other: %v", o)
+	}
+	if o := x.Eval("for {set i 0} {$i < 150} {incr i} {catch {vwait nope}}; set i", 5000); o.Text != "150" {
+		t.Errorf("waits in vain: %v", o)
+	}
+	if o := Pass(x, -1, 10); o != (api.Outcome{}) || Now(x) != 0 {
+		t.Errorf("Pass back: %v, %d", o, Now(x))
+	}
+	if due, ok := Due(x); due != 0 || ok {
+		t.Errorf("Due of nothing: %d", due)
+	}
+	for _, y := range []*core.Machine{nil, New()} {
+		if due, ok := Due(y); due != 0 || ok || Now(y) != 0 {
+			t.Errorf("Due = %d, Now = %d", due, Now(y))
+		}
+	}
+	if did, o := Turn(nil, 5); did || o.Code != api.CError || o.Text != "machine" {
+		t.Errorf("Turn of nothing: %v", o)
+	}
+	if o := Pass(nil, 5, 5); o.Code != api.CError || o.Text != "machine" {
+		t.Errorf("Pass of nothing: %v", o)
+	}
+}
