@@ -48,3 +48,22 @@ func TestFunctions(t *testing.T) {
 		t.Errorf("Zip = %q", z)
 	}
 }
+
+func TestGrownLists(t *testing.T) {
+	x := New()
+	if o := x.Eval("for {set i 0} {$i < 10000} {incr i} {lappend l $i}; list [llength $l] [lindex $l 0] [lindex $l end]", 100000); o.Text != "10000 0 9999" {
+		t.Errorf("grown: %v", o)
+	}
+	if o := x.Eval("catch {lappend l x} m; list $m [llength $l]", 50); o.Text != "long 10000" {
+		t.Errorf("one more: %v", o)
+	}
+	if o := x.Eval("set k [string repeat x 60000]; lappend k a; catch {lappend k [string repeat y 6000]} m; list $m [llength $k] [string length $k]", 50); o.Text != "long 2 60002" {
+		t.Errorf("too long: %v", o)
+	}
+	if o := x.Eval("lappend n; lappend n {}; lappend n; lappend n {a b} c; set n", 50); o.Text != "{} {a b} c" {
+		t.Errorf("from nothing: %v", o)
+	}
+	if o := x.Eval("set p {a  b}; lappend p; append p { c}; lappend p d; lappend p {e f}; set p", 50); o.Text != "a b c d {e f}" {
+		t.Errorf("changed in between: %v", o)
+	}
+}

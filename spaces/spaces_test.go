@@ -49,3 +49,18 @@ func TestFunctions(t *testing.T) {
 		t.Errorf("an unknown command takes %d steps more", left-x.Left())
 	}
 }
+
+func TestDumpOfAll(t *testing.T) {
+	x := New()
+	x.Eval("set a 1; namespace eval z {variable b 2}; namespace eval m::n {variable c; set d(x) {3 4}}; namespace eval empty {variable e}", 100)
+	if got := x.Dump(); got != ":: {a {s 1}} ::m::n {d {a {x {3 4}}}} ::z {b {s 2}}" {
+		t.Errorf("Dump = %s", got)
+	}
+	if got := strings.Join(x.Spaces(), " "); got != ":: ::empty ::m ::m::n ::z" {
+		t.Errorf("Spaces = %s", got)
+	}
+	x.Eval("namespace delete m; namespace eval m::n {variable f 5}", 100)
+	if got := x.Dump(); got != ":: {a {s 1}} ::m::n {f {s 5}} ::z {b {s 2}}" {
+		t.Errorf("Dump behind a deletion = %s", got)
+	}
+}
