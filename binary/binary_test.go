@@ -19,7 +19,7 @@ func TestPack(t *testing.T) {
 		{"a3 s H4", []string{"ab", "258", "0a1b"}, "ab\x00\x02\x01\x0a\x1b", 0}, {" aA5a*A0 ", []string{"xy", "z", "long", "q", "more"}, "xz    long", 0}, {"h3H3hH", []string{"12f", "12f", "a", "a"}, "\x21\x0f\x12\xf0\x0a\xa0", 0}, {"h4H*", []string{"1", "abc"}, "\x01\x00\xab\xc0", 0}, {"b3B3b*B9", []string{"110", "110", "", "1"}, "\x03\xc0\x80\x00", 0},
 		{"cc2c*", []string{"-1", "1 256 7", " 3\t4 "}, "\xff\x01\x00\x03\x04", 0}, {"sSiI", []string{"-2", "0x1234", "1", "1"}, "\xfe\xff\x12\x34\x01\x00\x00\x00\x00\x00\x00\x01", 0}, {"wW", []string{"18446744073709551617", "-1"}, "\x01\x00\x00\x00\x00\x00\x00\x00\xff\xff\xff\xff\xff\xff\xff\xff", 0}, {"c0", []string{""}, "", 0},
 		{"a3@1a@5ax*@*a", []string{"abc", "X", "Y", "Z"}, "aXc\x00\x00Y\x00Z", 0}, {"a4@1x2", []string{"abcd"}, "a\x00\x00d", 0}, {"@3", nil, "\x00\x00\x00", 0}, {"", []string{"x"}, "", 0},
-		{"q", nil, "", api.ErrSyntax}, {"cu", []string{"1"}, "", api.ErrSyntax}, {"a05", []string{"1"}, "", api.ErrSyntax}, {"a10000", []string{"1"}, "", api.ErrSyntax}, {"@", nil, "", api.ErrSyntax}, {"5", nil, "", api.ErrSyntax}, {"a\t", nil, "", api.ErrSyntax}, {"aa", []string{"1"}, "", api.ErrNone}, {"c2", []string{"1"}, "", api.ErrKind}, {"c2", []string{"x"}, "", api.ErrKind}, {"c1", []string{"1 x"}, "", api.ErrKind}, {"c", []string{"1 2"}, "", api.ErrKind}, {"H1", []string{"1g"}, "", api.ErrKind}, {"b0", []string{"2"}, "", api.ErrKind},
+		{"q", nil, "", api.ErrSyntax}, {"cu", []string{"1"}, "", api.ErrSyntax}, {"cu", nil, "", api.ErrSyntax}, {"c iu2 @70000", []string{"x"}, "", api.ErrSyntax}, {"a su3", []string{"1", "1 2 3"}, "", api.ErrSyntax}, {"a05", []string{"1"}, "", api.ErrSyntax}, {"a10000", []string{"1"}, "", api.ErrSyntax}, {"@", nil, "", api.ErrSyntax}, {"5", nil, "", api.ErrSyntax}, {"a\t", nil, "", api.ErrSyntax}, {"aa", []string{"1"}, "", api.ErrNone}, {"c2", []string{"1"}, "", api.ErrKind}, {"c2", []string{"x"}, "", api.ErrKind}, {"c1", []string{"1 x"}, "", api.ErrKind}, {"c", []string{"1 2"}, "", api.ErrKind}, {"H1", []string{"1g"}, "", api.ErrKind}, {"b0", []string{"2"}, "", api.ErrKind},
 		{"c", []string{long}, "", api.ErrLimit}, {"c1", []string{"1 " + long + " x"}, "", api.ErrLimit}, {"a*a", []string{strings.Repeat("x", 65536), "y"}, "", api.ErrLimit}, {"a*a", []string{strings.Repeat("x", 65537)}, "", api.ErrLimit}, {"a*", []string{strings.Repeat("x", 65536)}, strings.Repeat("x", 65536), 0},
 	} {
 		s, e := Pack(c.layout, c.args)
@@ -34,7 +34,7 @@ func TestPack(t *testing.T) {
 	for layout, want := range map[string]struct {
 		fields, length int
 		e, e2          api.Errno
-	}{"a3 s H4x@9": {3, 9, 0, 0}, "c*": {1, 0, 0, api.ErrRange}, "x*@*": {0, 1, 0, 0}, "a9999@1": {1, 9999, 0, 0}, "y": {0, 0, 2, 2}, "h3b9": {2, 4, 0, 0}} {
+	}{"a3 s H4x@9": {3, 9, 0, 0}, "c*": {1, 0, 0, api.ErrRange}, "x*@*": {0, 1, 0, 0}, "a9999@1": {1, 9999, 0, 0}, "y": {0, 0, 2, 2}, "h3b9": {2, 4, 0, 0}, "Iu": {1, 4, 0, 0}, "cu": {1, 1, 0, 0}, "su3 a2 x": {2, 9, 0, 0}, "Wu*": {1, 0, 0, api.ErrRange}, "wu0": {1, 0, 0, 0}, "au": {0, 0, 2, 2}, "cuu": {0, 0, 2, 2}, "c2u": {0, 0, 2, 2}, "u": {0, 0, 2, 2}, "xu": {0, 0, 2, 2}} {
 		f, e := Fields(layout)
 		n, e2 := Length(layout)
 		if f != want.fields || n != want.length || e != want.e || e2 != want.e2 {

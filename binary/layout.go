@@ -62,7 +62,7 @@ func letters() map[byte]letter {
 }
 
 // fields yields the fields of a layout; at a wrong one, false, and the end.
-func fields(layout string, unpack bool) iter.Seq2[field, bool] {
+func fields(layout string) iter.Seq2[field, bool] {
 	return func(yield func(field, bool) bool) {
 		known := letters()
 		for i := 0; i < len(layout); {
@@ -74,7 +74,7 @@ func fields(layout string, unpack bool) iter.Seq2[field, bool] {
 			l, ok := known[f.mark]
 			f.letter = l
 			i++
-			if unpack && l.size > 0 && strings.HasPrefix(layout[i:], "u") {
+			if l.size > 0 && strings.HasPrefix(layout[i:], "u") {
 				f.unsigned = true
 				i++
 			}
@@ -104,9 +104,9 @@ func readCount(s string, count *int) (n int, ok bool) {
 }
 
 // valid reads a whole layout.
-func valid(layout string, unpack bool) ([]field, api.Errno) {
+func valid(layout string) ([]field, api.Errno) {
 	var out []field
-	for f, ok := range fields(layout, unpack) {
+	for f, ok := range fields(layout) {
 		if !ok {
 			return nil, api.ErrSyntax
 		}

@@ -233,10 +233,12 @@ func TestLayoutsFieldByField(t *testing.T) {
 		if got, e := Pack(pack, args); got != bytes || e != api.OK {
 			t.Fatalf("Pack(%q, %q) = %q, %d, not %q", pack, args, got, e, bytes)
 		}
-		n, e := Length(pack)
-		k, e2 := Fields(pack)
-		if n != len(bytes) || k != len(args) || e != api.OK || e2 != api.OK {
-			t.Fatalf("%q: %d bytes, %d fields", pack, n, k)
+		for _, layout := range []string{pack, unpack} {
+			n, e := Length(layout)
+			k, e2 := Fields(layout)
+			if n != len(bytes) || k != len(args) || e != api.OK || e2 != api.OK {
+				t.Fatalf("%q: %d bytes, %d fields", layout, n, k)
+			}
 		}
 		got, done, e := Unpack(unpack, bytes)
 		if !slices.Equal(got, told) || !done || e != api.OK {
@@ -267,11 +269,10 @@ func TestLayoutsFieldByField(t *testing.T) {
 }
 
 func TestLayoutForms(t *testing.T) {
-	form := regexp.MustCompile(`^ *([aAhHbBcsSiIwWx](\*|0|[1-9][0-9]{0,3})?|@(\*|0|[1-9][0-9]{0,3}))`)
-	formU := regexp.MustCompile(`^ *([aAhHbBx](\*|0|[1-9][0-9]{0,3})?|[csSiIwW]u?(\*|0|[1-9][0-9]{0,3})?|@(\*|0|[1-9][0-9]{0,3}))`)
-	right := func(s string, f *regexp.Regexp) bool {
+	form := regexp.MustCompile(`^ *([aAhHbBx](\*|0|[1-9][0-9]{0,3})?|[csSiIwW]u?(\*|0|[1-9][0-9]{0,3})?|@(\*|0|[1-9][0-9]{0,3}))`)
+	right := func(s string) bool {
 		for strings.Trim(s, " ") != "" {
-			m := f.FindString(s)
+			m := form.FindString(s)
 			rest := s[len(m):]
 			if m == "" || rest != "" && rest[0] >= '0' && rest[0] <= '9' && strings.TrimLeft(m, " ") != "" && !strings.HasSuffix(m, "*") {
 				return false
@@ -283,11 +284,18 @@ func TestLayoutForms(t *testing.T) {
 	r := rand.New(rand.NewSource(3))
 	for range 15000 {
 		s := some(r, "aAhcsuux@@**0129 \t", 6)
-		if _, e := Fields(s); (e == api.OK) != right(s, form) || e != api.OK && e != api.ErrSyntax {
+		ok := right(s)
+		if _, e := Fields(s); (e == api.OK) != ok || e != api.OK && e != api.ErrSyntax {
 			t.Fatalf("Fields(%q): %d", s, e)
 		}
-		if _, _, e := Unpack(s, "abc"); (e == api.OK) != right(s, formU) {
+		if _, e := Length(s); (e != api.ErrSyntax) != ok {
+			t.Fatalf("Length(%q): %d", s, e)
+		}
+		if _, _, e := Unpack(s, "abc"); (e == api.OK) != ok {
 			t.Fatalf("Unpack(%q): %d", s, e)
+		}
+		if _, e := Pack(s, nil); (e != api.ErrSyntax) != (ok && !strings.Contains(s, "u")) {
+			t.Fatalf("Pack(%q): %d", s, e)
 		}
 	}
 }
