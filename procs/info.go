@@ -39,11 +39,9 @@ func infos() map[string]core.Sub[asker] {
 }
 
 func (q query) exists() api.Outcome {
+	// in a namespace that is not there no variable is set
 	s, o := q.Spot(q.Arg(0))
-	if core.Bad(o) {
-		return o
-	}
-	return core.Truth(q.Vars().Kind(s.Scope, s.Word) != 0)
+	return core.Truth(!core.Bad(o) && q.Vars().Kind(s.Scope, s.Word) != 0)
 }
 
 func (q query) level() api.Outcome {
