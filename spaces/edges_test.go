@@ -123,3 +123,29 @@ func TestEdges(t *testing.T) {
 		}
 	}
 }
+
+// TestGlobalByLevels: global does nothing at level 0 alone, wherever its scope is the global one.
+func TestGlobalByLevels(t *testing.T) {
+	for script, want := range map[string]string{
+		"set y 1; namespace eval :: {global y}":                                          "1 exists: y",
+		"namespace eval :: {global y}":                                                   "1 circle: y",
+		"array set y {}; namespace eval :: {global ::q::y}":                              "1 exists: ::q::y",
+		"namespace eval :: {global ::q::y}":                                              "1 circle: ::q::y",
+		"namespace eval :: {global a(1)}":                                                "1 name: a(1)",
+		"set z 1; upvar 0 z y; namespace eval :: {global y; incr y}; list $y $z":         "0 2 2",
+		"set y 1; global y a(1); namespace eval a {uplevel 1 {global y}}":                "0 ",
+		"set y 1; namespace eval :: {uplevel 1 {global y}}":                              "0 ",
+		"set y 1; namespace eval :: {namespace eval a {uplevel 1 {global y}}}":           "1 exists: y",
+		"set y 1; namespace eval a {uplevel #0 {namespace eval :: {global y}}}":          "1 exists: y",
+		"set y 1; namespace eval a {global y; incr y}; list $y [info exists ::a::y]":     "0 2 1",
+		"set y 1; namespace eval a {set y 2; global y}":                                  "1 exists: y",
+		"proc f {} {global y; incr y}; namespace eval :: {f; f}; set y":                  "0 2",
+		"set y 1; namespace eval :: {global}":                                            "1 words: global",
+		"proc f {} {namespace eval :: {upvar 1 v w}}; proc g {} {f}; f; info exists ::w": "0 0",
+	} {
+		o := New().Eval(script, 5000)
+		if got := fmt.Sprintf("%d %s", o.Code, o.Text); got != want {
+			t.Errorf("%q: %q, not %q", script, got, want)
+		}
+	}
+}
