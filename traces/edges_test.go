@@ -95,3 +95,38 @@ func TestEdges(t *testing.T) {
 		}
 	}
 }
+
+// TestElementsOfScalars: where an element of a scalar is asked, neither its traces nor the scalar's are done.
+func TestElementsOfScalars(t *testing.T) {
+	const log = "proc t args {lappend ::l $args}; set l {}; "
+	for script, want := range map[string]string{
+		"set a s; trace add variable a {read write unset} t; catch {set b $a(x)} m; list $m $l":                    "0 {array: a(x)} {}",
+		"set a s; trace add variable a {read write unset} t; catch {set a(x)} m; list $m $l":                       "0 {array: a(x)} {}",
+		"set a s; trace add variable a {read write unset} t; catch {set a(x) 1} m; list $m $l":                     "0 {array: a(x)} {}",
+		"set a s; trace add variable a {read write unset} t; catch {incr a(x)} m; list $m $l":                      "0 {array: a(x)} {}",
+		"set a s; trace add variable a {read write unset} t; catch {append a(x) y} m; list $m $l":                  "0 {array: a(x)} {}",
+		"set a s; trace add variable a {read write unset} t; catch {lappend a(x) y} m; list $m $l":                 "0 {array: a(x)} {}",
+		"set a s; trace add variable a {read write unset} t; catch {lset a(x) 0 y} m; list $m $l":                  "0 {array: a(x)} {}",
+		"set a s; trace add variable a {read write unset} t; catch {dict set a(x) k v} m; list $m $l":              "0 {array: a(x)} {}",
+		"set a s; trace add variable a {read write unset} t; catch {unset a(x)} m; list $m $l":                     "0 {array: a(x)} {}",
+		"set a s; trace add variable a {read write unset} t; catch {expr {$a(x)}} m; list $m $l":                   "0 {array: a(x)} {}",
+		"set a s; trace add variable a read {error no}; set a(x)":                                                  "1 array: a(x)",
+		"set a s; trace add variable a read t; set a; set l":                                                       "0 {a {} read}",
+		"trace add variable a(1) {read write} t; set a 7; catch {set b $a(1)} m; list $m $l":                       "0 {array: a(1)} {}",
+		"trace add variable a(1) {read write} t; set a 7; catch {incr a(1)} m; list $m $l":                         "0 {array: a(1)} {}",
+		"upvar 0 a(1) b; trace add variable b {read write} t; set a 7; catch {set b} m; list $m $l":                "0 {array: b} {}",
+		"set a s; upvar 0 a b; trace add variable a read t; catch {set b(x)} m; list $m $l":                        "0 {array: b(x)} {}",
+		"set a(1) 1; upvar 0 a(1) b; trace add variable a read t; catch {set b(x)} m; list $m $l":                  "0 {array: b(x)} {}",
+		"set a(1) 1; trace add variable a read t; catch {set a} m; list $m $l":                                     "0 {array: a} {{a {} read}}",
+		"set a(1) 1; trace add variable a read t; catch {set a(2)} m; list $m $l":                                  "0 {variable: a(2)} {{a 2 read}}",
+		"trace add variable a(1) read t; catch {set a(1)} m; list $m $l":                                           "0 {variable: a(1)} {{a 1 read}}",
+		"proc s args {set ::a(1) 5}; trace add variable a(1) read s; set a(1)":                                     "0 5",
+		"set a s; trace add variable a write t; unset a; set a(1) 2; trace add variable a read t; set a(1); set l": "0 {a 1 read}",
+		"namespace eval n {set a s}; trace add variable n::a read t; catch {set n::a(x)} m; list $m $l":            "0 {array: n::a(x)} {}",
+	} {
+		o := New().Eval(log+script, 5000)
+		if got := fmt.Sprintf("%d %s", o.Code, o.Text); got != want {
+			t.Errorf("%q: %q, not %q", script, got, want)
+		}
+	}
+}

@@ -100,6 +100,9 @@ func (b *book) access(x *core.Machine, s core.Spot, op string) api.Outcome {
 		return api.Outcome{}
 	}
 	if whole, element := p.Whole(); element {
+		if whole.Kind() == 1 {
+			return api.Outcome{} // a scalar has no elements: nothing of it is read
+		}
 		if o := b.happen(x, whole, b.vars[whole], s, op, core.Bad); core.Bad(o) {
 			return o
 		}
