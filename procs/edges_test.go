@@ -88,7 +88,7 @@ func TestEdges(t *testing.T) {
 		"apply {a b c}":                                                             "1 lambda: a b c",
 		"apply \"a {\"":                                                             "1 list: a {",
 		"apply {{{}} {}}":                                                           "1 param: ",
-		"apply {{} {info level 0}}":                                                 "0 apply {{} {info level 0}}",
+		"apply {{} {info level 0}}":                                                 "0 apply",
 		"proc f {a {b 2} args} {body}; list [info args f] [info body f]":            "0 {a b args} body",
 		"proc f {a {b 2}} {}; list [info default f a x] $x [info default f b x] $x": "0 0 {} 1 2",
 		"proc f a {}; info default f q x":                                           "1 param: q",
@@ -134,6 +134,28 @@ func TestEdges(t *testing.T) {
 		o := New().Eval(script, 5000)
 		if got := fmt.Sprintf("%d %s", o.Code, o.Text); got != want {
 			t.Errorf("%.200q: %.90q, not %.90q", script, got, want)
+		}
+	}
+}
+
+// TestApplyLevels: what apply calls has the name apply and the words behind the lambda, which is none of them.
+func TestApplyLevels(t *testing.T) {
+	for script, want := range map[string]string{
+		"apply {{x y} {info level 1}} 1 2":                                             "0 apply 1 2",
+		"apply {args {info level 0}} {a b} {} c":                                       "0 apply {a b} {} c",
+		"apply {{{x 5}} {info level 0}}":                                               "0 apply",
+		"::apply {x {info level 0}} 1":                                                 "0 apply 1",
+		"rename apply f; f {x {info level 0}} 1":                                       "0 apply 1",
+		"rename apply f; f {x {}}":                                                     "1 words: apply",
+		"apply {x {}} 1 2":                                                             "1 words: apply",
+		"proc f {} {info level -1}; apply {x f} 1":                                     "0 apply 1",
+		"proc f {} {apply {x {list [info level] [info level 1] [info level 0]}} 7}; f": "0 2 f {apply 7}",
+		"apply {x {apply {{y z} {list [info level 1] [info level 2]}} 2 3}} 1":         "0 {apply 1} {apply 2 3}",
+		"proc f x {tailcall apply {y {info level 0}} $x}; f 1":                         "0 apply 1",
+	} {
+		o := New().Eval(script, 5000)
+		if got := fmt.Sprintf("%d %s", o.Code, o.Text); got != want {
+			t.Errorf("%q: %q, not %q", script, got, want)
 		}
 	}
 }
