@@ -141,14 +141,14 @@ func TestEdges(t *testing.T) {
 // TestApplyLevels: what apply calls has the name apply and the words behind the lambda, which is none of them.
 func TestApplyLevels(t *testing.T) {
 	for script, want := range map[string]string{
-		"apply {{x y} {info level 1}} 1 2":                                             "0 apply 1 2",
-		"apply {args {info level 0}} {a b} {} c":                                       "0 apply {a b} {} c",
-		"apply {{{x 5}} {info level 0}}":                                               "0 apply",
-		"::apply {x {info level 0}} 1":                                                 "0 apply 1",
-		"rename apply f; f {x {info level 0}} 1":                                       "0 apply 1",
-		"rename apply f; f {x {}}":                                                     "1 words: apply",
-		"apply {x {}} 1 2":                                                             "1 words: apply",
-		"proc f {} {info level -1}; apply {x f} 1":                                     "0 apply 1",
+		"apply {{x y} {info level 1}} 1 2":         "0 apply 1 2",
+		"apply {args {info level 0}} {a b} {} c":   "0 apply {a b} {} c",
+		"apply {{{x 5}} {info level 0}}":           "0 apply",
+		"::apply {x {info level 0}} 1":             "0 apply 1",
+		"rename apply f; f {x {info level 0}} 1":   "0 apply 1",
+		"rename apply f; f {x {}}":                 "1 words: apply",
+		"apply {x {}} 1 2":                         "1 words: apply",
+		"proc f {} {info level -1}; apply {x f} 1": "0 apply 1",
 		"proc f {} {apply {x {list [info level] [info level 1] [info level 0]}} 7}; f": "0 2 f {apply 7}",
 		"apply {x {apply {{y z} {list [info level 1] [info level 2]}} 2 3}} 1":         "0 {apply 1} {apply 2 3}",
 		"proc f x {tailcall apply {y {info level 0}} $x}; f 1":                         "0 apply 1",
