@@ -142,10 +142,14 @@ func (m *model) link(scope int, name string, to int, word string) api.Errno {
 	if !own.link && own.to.kind != 0 {
 		return api.ErrDuplicate
 	}
-	l, e := m.find(to, word)
-	if e == api.OK && !own.link && l.to == own.to {
+	base := word
+	if parts := wordForm.FindStringSubmatch(word); parts != nil {
+		base = parts[1]
+	}
+	if whole, _ := m.find(to, base); !own.link && whole.to == own.to {
 		return api.ErrState
 	}
+	l, e := m.find(to, word)
 	if e != api.OK {
 		return e
 	}

@@ -172,3 +172,37 @@ func TestLinks(t *testing.T) {
 	want(t, "the whole", whole, all)
 	want(t, "an element", is, true)
 }
+
+// TestCircles: a name is linked to nothing that leads to it, whatever of that the word means.
+func TestCircles(t *testing.T) {
+	for _, k := range []struct {
+		first, second string // what a is linked to, and what b is to be linked to
+		e             api.Errno
+	}{
+		{"b()", "a()", api.ErrState}, {"b()", "a", api.ErrState}, {"b(1)", "a(2)", api.ErrState}, {"b", "a", api.ErrState}, {"b", "a(1)", api.ErrState}, {"b", "b", api.ErrState}, {"b", "b(1)", api.ErrState},
+		{"c(1)", "a(1)", api.ErrKind}, {"c(1)", "a", api.OK}, {"c", "a(1)", api.OK}, {"c", "a", api.OK}, {"d", "a(1)", api.ErrKind}, {"c(1)", "d(1)", api.ErrKind},
+	} {
+		s := New()
+		s.Set(0, "d", "scalar")
+		room := s.Room("r")
+		want(t, "Link of a to "+k.first, s.Link(room, "a", 0, k.first), api.OK)
+		to := room
+		if k.second[0] != 'a' {
+			to = 0
+		}
+		want(t, "Link of b to "+k.second+", a to "+k.first, s.Link(0, "b", to, k.second), k.e)
+		want(t, "Linked", s.Linked(0, "b"), k.e == api.OK)
+	}
+	s := New()
+	s.Link(0, "a", 0, "b(1)")
+	s.Set(0, "b(2)", "x")
+	want(t, "what is set", s.Link(0, "b", 0, "a(1)"), api.ErrDuplicate)
+	s.Unset(0, "b")
+	want(t, "what is unset", s.Link(0, "b", 0, "a(1)"), api.ErrState)
+	want(t, "further links", s.Link(0, "c", 0, "a"), api.OK)
+	want(t, "by two links", s.Link(0, "b", 0, "c(1)"), api.ErrState)
+	want(t, "elsewhere", s.Link(0, "d", 0, "b"), api.OK)
+	want(t, "anew", s.Link(0, "d", 0, "e"), api.OK)
+	want(t, "a link that goes elsewhere now", s.Link(0, "b", 0, "d"), api.OK)
+	want(t, "an element by a link", s.Link(0, "a", 0, "a(1)"), api.ErrKind)
+}
