@@ -99,3 +99,25 @@ func TestEdges(t *testing.T) {
 		}
 	}
 }
+
+// TestCreateTellsThePath: as it was given, whatever the canonical list of its names is.
+func TestCreateTellsThePath(t *testing.T) {
+	for script, want := range map[string]string{
+		"interp create c":          "0 c",
+		"interp create {c }":       "0 c ",
+		"interp create \"c;d\"":    "0 c;d",
+		"interp create { {c}\t}":   "0  {c}\t",
+		"interp create -safe { c}": "0  c",
+		"interp create a; interp create {a  {b}}; interp create {{a} b c}": "0 {a} b c",
+		"interp create {c }; interp exists c":                              "0 1",
+		"interp create \"c;d\"; interp children {}":                        "0 {c;d}",
+		"interp create {c }; interp create c":                              "1 exists: c",
+		"interp create c; interp create { c}":                              "1 exists:  c",
+		"interp create {{c}d}":                                             "1 list: {c}d",
+	} {
+		o := New().Eval(script, 5000)
+		if got := fmt.Sprintf("%d %s", o.Code, o.Text); got != want {
+			t.Errorf("%q: %q, not %q", script, got, want)
+		}
+	}
+}
