@@ -24,6 +24,7 @@ type lead struct {
 	element bool
 	index   string
 	link    bool
+	own     *box // what the name was before it was a link
 }
 
 type model struct {
@@ -46,7 +47,8 @@ func (m *model) find(scope int, word string) (lead, api.Errno) {
 		base, index = parts[1], parts[2]
 	}
 	if names[base] == nil {
-		names[base] = &lead{to: &box{}}
+		own := &box{}
+		names[base] = &lead{to: own, own: own}
 	}
 	at := *names[base]
 	if parts == nil {
@@ -138,15 +140,15 @@ func (m *model) link(scope int, name string, to int, word string) api.Errno {
 	if wordForm.MatchString(name) {
 		return api.ErrName
 	}
-	own, _ := m.find(scope, name)
-	if !own.link && own.to.kind != 0 {
+	from, _ := m.find(scope, name)
+	if !from.link && from.to.kind != 0 {
 		return api.ErrDuplicate
 	}
 	base := word
 	if parts := wordForm.FindStringSubmatch(word); parts != nil {
 		base = parts[1]
 	}
-	if whole, _ := m.find(to, base); !own.link && whole.to == own.to {
+	if whole, _ := m.find(to, base); whole.to == from.own {
 		return api.ErrState
 	}
 	l, e := m.find(to, word)
@@ -156,7 +158,7 @@ func (m *model) link(scope int, name string, to int, word string) api.Errno {
 	if _, wrong := l.is(); wrong {
 		return api.ErrKind
 	}
-	l.link = true
+	l.link, l.own = true, from.own
 	m.scopes[scope][name] = &l
 	return api.OK
 }

@@ -206,3 +206,62 @@ func TestCircles(t *testing.T) {
 	want(t, "a link that goes elsewhere now", s.Link(0, "b", 0, "d"), api.OK)
 	want(t, "an element by a link", s.Link(0, "a", 0, "a(1)"), api.ErrKind)
 }
+
+// TestCirclesOfLinks: a name that is a link now is not linked to its own variable, to which others may lead still.
+func TestCirclesOfLinks(t *testing.T) {
+	for _, k := range []struct {
+		first, word string // what a is linked to, and what x, linked to b meanwhile, is to be linked to
+		e           api.Errno
+	}{
+		{"x", "a", api.ErrState}, {"x", "a(1)", api.ErrState}, {"x", "a()", api.ErrState}, {"x(1)", "a", api.ErrState}, {"x(1)", "a(1)", api.ErrState}, {"x()", "a()", api.ErrState},
+		{"x", "x", api.OK}, {"x", "x(1)", api.OK}, {"x", "b", api.OK}, {"x", "c", api.OK}, {"c", "a", api.OK}, {"c", "a(1)", api.OK}, {"c(1)", "a(1)", api.ErrKind}, {"d", "a(1)", api.ErrKind},
+	} {
+		s := New()
+		s.Set(0, "d", "scalar")
+		for _, room := range []int{0, s.Push(), s.Room("r")} {
+			what := "Link of x to " + k.word + ", a to " + k.first + ": "
+			from := 0
+			if k.first[0] == 'x' {
+				from = room
+			}
+			want(t, what+"a", s.Link(0, "a", from, k.first), api.OK)
+			want(t, what+"x to b", s.Link(room, "x", 0, "b"), api.OK)
+			to := 0
+			if k.word[0] == 'x' {
+				to = room
+			}
+			want(t, what+"x", s.Link(room, "x", to, k.word), k.e)
+			want(t, what+"Linked", s.Linked(room, "x"), true)
+			if k.e != api.OK {
+				want(t, what+"Set", s.Set(room, "x", "5"), api.OK)
+				want(t, what+"b, as before", value(s, 0, "b"), "5")
+				want(t, what+"a", s.Kind(0, "a") == 1, k.first == "d")
+			}
+			s.Unset(0, "b")
+		}
+	}
+}
+
+// TestOwnVariables: a name keeps its own variable, however often it is linked anew, and others may be linked to that.
+func TestOwnVariables(t *testing.T) {
+	s, other := New(), New()
+	want(t, "a to x", s.Link(0, "a", 0, "x"), api.OK)
+	for _, word := range []string{"b", "c(1)", "d", "x", "b"} {
+		want(t, "x to "+word, s.Link(0, "x", 0, word), api.OK)
+		want(t, "x to a, behind "+word, s.Link(0, "x", 0, "a"), api.ErrState)
+	}
+	want(t, "further", s.Link(0, "e", 0, "a"), api.OK)
+	want(t, "x by two links", s.Link(0, "x", 0, "e(1)"), api.ErrState)
+	want(t, "b to a", s.Link(0, "b", 0, "a"), api.OK)
+	s.Set(0, "b", "own")
+	want(t, "x is linked to what b was", value(s, 0, "x"), "<none>")
+	want(t, "b is what x was", value(s, 0, "a"), "own")
+	want(t, "x to what is set, its own", s.Link(0, "x", 0, "b"), api.ErrState)
+	want(t, "its element", s.Link(0, "x", 0, "b(1)"), api.ErrState)
+	want(t, "a elsewhere", s.Link(0, "a", 0, "f"), api.OK)
+	want(t, "x to a, that leads elsewhere", s.Link(0, "x", 0, "a"), api.OK)
+	want(t, "in another space", other.LinkTo(0, "a", s, 0, "y"), api.OK)
+	want(t, "y anew", s.Link(0, "y", 0, "g"), api.OK)
+	want(t, "from another space", s.LinkTo(0, "y", other, 0, "a"), api.ErrState)
+	want(t, "another name", s.LinkTo(0, "z", other, 0, "a"), api.OK)
+}
