@@ -46,7 +46,7 @@ func someTree(r *rand.Rand, deep int) (full, short string, level int) {
 			fulls, shorts = append(fulls, f), append(shorts, s)
 		}
 		name := []string{"abs", "max", "no", "f_1", "x2"}[r.Intn(5)]
-		return name + "(" + strings.Join(fulls, ", ") + ")", name + "(" + blank + strings.Join(shorts, blank+",") + ")", wordLevel
+		return name + "(" + strings.Join(fulls, ", ") + ")", name + blank + "(" + blank + strings.Join(shorts, blank+",") + ")", wordLevel
 	case k == 4:
 		a, sa, la := someTree(r, deep-1)
 		b, sb, _ := someTree(r, deep-1)

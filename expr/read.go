@@ -166,11 +166,11 @@ func (r *reader) named() api.Node {
 		}
 		return operand(name)
 	}
-	if isTruthWord(name) && !(r.at < len(r.s) && r.s[r.at] == '(') {
-		return operand(name)
-	}
 	if !r.take('(') {
-		r.wrong(begin)
+		if !isTruthWord(name) {
+			r.wrong(begin)
+		}
+		return operand(name)
 	}
 	call := api.Node{Kind: api.NCall, Text: name, Args: []api.Node{r.whole()}}
 	for r.take(',') {
