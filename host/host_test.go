@@ -85,6 +85,13 @@ func TestDo(t *testing.T) {
 	if _, _, _, n := b.Do(api.Event{Kind: 2, Name: "pipe1", Text: "x"}); n != 0 {
 		t.Errorf("a side of a pair: %d", n)
 	}
+	_, _, _, closed := b.Line("close stdin")
+	if _, _, _, n := b.Do(api.Event{Kind: 2, Name: "stdin", Text: "61"}); closed != 0 || n != 0 || b.Count() != 5 {
+		t.Errorf("a channel that is broken and closed: %d, %d", closed, n)
+	}
+	if r, k, n := Replay(b.Book()); r == nil || k != 5 || n != 0 || r.Book() != b.Book() {
+		t.Errorf("its book: %d, %d", k, n)
+	}
 	var none *Host
 	if _, _, _, n := none.Do(api.Event{}); n != api.ErrState || none.Dump() != "" || none.Files() != nil || none.Now() != 0 || none.Commands() != nil || none.Book() != "" || none.Count() != 0 {
 		t.Error("a nil session")

@@ -181,3 +181,52 @@ func TestFromOutside(t *testing.T) {
 		t.Error("Out behind a flush")
 	}
 }
+
+// TestFeedOrder: that a channel is broken is told ahead of that it is closed, and this ahead of the limit.
+func TestFeedOrder(t *testing.T) {
+	long := strings.Repeat("41", 1000001)
+	for _, name := range []string{"stdin", "pipe1", "pipe2"} {
+		for _, k := range []struct {
+			first string // what is fed ahead of the end
+			end   bool
+			want  api.Errno
+			limit api.Errno // of a raw text that is too long
+		}{
+			{"41", false, api.OK, api.ErrLimit}, {"41x", false, api.ErrKind, api.ErrKind}, {"41", true, api.ErrState, api.ErrState}, {"41x", true, api.ErrKind, api.ErrKind},
+		} {
+			x := New()
+			told(x, "pair; lay "+name+" hex")
+			if e := Feed(x, name, k.first); (e == api.ErrKind) != strings.Contains(k.first, "x") {
+				t.Errorf("Feed of %q: %d", k.first, e)
+			}
+			if k.end {
+				if e := End(x, name); e != api.OK {
+					t.Errorf("End of %s behind %q: %d", name, k.first, e)
+				}
+			}
+			for _, raw := range []string{"", "4"} {
+				if e := Feed(x, name, raw); e != k.want {
+					t.Errorf("Feed of %q behind %q, end %t: %d, not %d", raw, k.first, k.end, e, k.want)
+				}
+			}
+			if e := Feed(x, name, long); e != k.limit {
+				t.Errorf("Feed of too much behind %q, end %t: %d, not %d", k.first, k.end, e, k.limit)
+			}
+			if e := End(x, name); k.end && e != api.ErrState || !k.end && e != api.OK {
+				t.Errorf("End of %s: %d", name, e)
+			}
+			if got := told(x, "list [read "+name+"] [eof "+name+"]"); got != "0 A 1" {
+				t.Errorf("%s behind %q: %s", name, k.first, got)
+			}
+		}
+	}
+	x := New()
+	told(x, "lassign [pair] a b; lay $b hex; puts -nonewline $a 41x; catch {close $a}")
+	if e := Feed(x, "pipe2", "41"); e != api.ErrKind {
+		t.Errorf("Feed of what broke by its other side, which is gone: %d", e)
+	}
+	told(x, "lassign [pair] a b; close $a")
+	if e := Feed(x, "pipe4", "41"); e != api.ErrState {
+		t.Errorf("Feed of what is closed by its other side: %d", e)
+	}
+}
