@@ -181,3 +181,27 @@ func TestEdges(t *testing.T) {
 		}
 	}
 }
+
+// TestConfigureWords: a wrong number of words is told ahead of the channel, the options and the values.
+func TestConfigureWords(t *testing.T) {
+	for _, rest := range []string{"t c r", "-in lf -out", "-in t -out", "-in lf -out lf -in", "{} {} {} {} {}"} {
+		for _, name := range []string{"nope", "stdin", "stdout", "pipe1", "pipe2", "{}"} {
+			x := New()
+			x.Eval("pair; close pipe2; rename configure other", 50)
+			if o := x.Eval("other "+name+" "+rest, 50); o.Code != 1 || o.Text != "words: other" {
+				t.Errorf("configure %s %s: %v", name, rest, o)
+			}
+			if o := x.Eval("other stdin -in", 50); o.Text != "auto" {
+				t.Errorf("configure %s %s has set %s", name, rest, o.Text)
+			}
+		}
+	}
+	for _, rest := range []string{"", "-in", "t", "-in lf", "t c", "-in lf -out lf", "-in lf -out t"} {
+		if o := New().Eval("configure nope "+rest, 50); o.Code != 1 || o.Text != "channel: nope" {
+			t.Errorf("configure nope %s: %v", rest, o)
+		}
+	}
+	if o := New().Eval("configure", 50); o.Code != 1 || o.Text != "words: configure" {
+		t.Errorf("configure alone: %v", o)
+	}
+}

@@ -92,3 +92,19 @@ func TestCountsByTwos(t *testing.T) {
 		}
 	}
 }
+
+// TestCountsAhead: a wrong number of words is told ahead of all else that is wrong.
+func TestCountsAhead(t *testing.T) {
+	for _, script := range []string{
+		"configure nope a b c", "gets nope a b", "read nope x y", "eof nope x", "close nope x", "seek nope x y", "tell nope x", "open \\{ q r", "lay nope", "lift nope x", "copy nope nope x y", "puts a nope b", "puts -nonewline a b c", "flush stdin x", "cd nope x", "file size nope x",
+		"set a(x b c", "incr nope::a x y", "rename nope nope::x y", "catch \\{ a b", "return -x y", "for \\{ \\{", "while \\{", "foreach \\{ \\{", "lmap \\{ \\{", "try \\{ on", "if \\{ \\{ x y",
+		"proc nope::f \\{", "upvar #99", "info level x y", "info body nope x", "array get nope::a b c", "lindex", "lrange \\{ x", "lset", "lsearch \\{", "dict replace \\{ a", "dict update a(x b", "dict filter \\{ key a b", "dict filter \\{ script a", "dict create \\{",
+		"namespace parent nope x", "namespace ensemble nope::x", "variable", "trace add variable nope::x nope", "trace info command nope x", "interp create x y", "interp eval nope", "interp limit nope x y", "interp share nope nope nope",
+		"class create \\{", "class define", "object class nope x", "object chain nope", "event nope", "event nope readable x y", "after idle", "after cancel", "after info x y", "update x y", "clock format x", "package provide x y z", "package ifneeded x",
+	} {
+		o := shelf.New().Eval("set d {}; "+script, 50)
+		if want := "words: " + strings.Fields(script)[0]; o.Code != api.CError || o.Text != want {
+			t.Errorf("%q: %d, %q", script, o.Code, o.Text)
+		}
+	}
+}
