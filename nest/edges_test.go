@@ -121,3 +121,21 @@ func TestCreateTellsThePath(t *testing.T) {
 		}
 	}
 }
+
+// TestUnsetWhereAChildEnds: a child that is ended while unset traces are done leaves them there, for all that share the variable.
+func TestUnsetWhereAChildEnds(t *testing.T) {
+	const shared = "interp create c; interp alias c die {} interp delete c; set x 1; interp share {} x c y; interp eval c {proc u args {nop; nop}; proc k args die}; "
+	for _, c := range [][2]string{
+		{"trace add variable x {unset write} u; interp eval c {unset y}; list [info exists x] [trace info variable x]", "0 0 {}"},
+		{"trace add variable x {unset write} u; interp limit c 2; list [catch {interp eval c {unset y}} m] $m [info exists x] [trace info variable x]", "0 1 limit 0 {{{unset write} u}}"},
+		{"trace add variable x {unset write} u; interp limit c 3; list [catch {interp eval c {unset y}} m] $m [trace info variable x]", "0 1 limit {{{unset write} u}}"},
+		{"trace add variable x {unset write} u; interp limit c 4; list [catch {interp eval c {unset y}} m] $m [trace info variable x]", "0 0 {} {}"},
+		{"trace add variable x {unset write} k; list [catch {interp eval c {unset y}} m] $m [interp exists c] [trace info variable x]", "0 1 deleted 0 {{{unset write} k}}"},
+		{"proc see args {lappend ::l [trace info variable ::x]}; interp alias c u {} see; trace add variable x unset u; interp eval c {unset y}; list $l [trace info variable x]", "0 {{{unset u}}} {}"},
+	} {
+		o := New().Eval(shared+c[0], 5000)
+		if got := fmt.Sprintf("%d %s", o.Code, o.Text); got != c[1] {
+			t.Errorf("%q: %q, not %q", c[0], got, c[1])
+		}
+	}
+}

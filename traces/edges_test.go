@@ -3,6 +3,8 @@ package traces
 import (
 	"fmt"
 	"testing"
+
+	"threadbare/api"
 )
 
 func TestEdges(t *testing.T) {
@@ -128,5 +130,79 @@ func TestElementsOfScalars(t *testing.T) {
 		if got := fmt.Sprintf("%d %s", o.Code, o.Text); got != want {
 			t.Errorf("%q: %q, not %q", script, got, want)
 		}
+	}
+}
+
+// TestUnsetInOrder: what is unset has its traces while they are done; behind that those go, and what was added meanwhile stays.
+func TestUnsetInOrder(t *testing.T) {
+	const see = "set l {}; proc see {v args} {lappend ::l [trace info variable ::$v]}; proc log {w args} {lappend ::l $w}; "
+	for _, c := range [][2]string{
+		{"set n 3; trace add variable n {unset write} {see n}; unset n; list $l [trace info variable n]", "0 {{{{unset write} {see n}}}} {}"},
+		{"set n 3; trace add variable n unset {see n}; trace add variable n write w; trace add variable n {read unset} {see n}; unset n; list [llength $l] [lindex $l 0] [lindex $l 1] [trace info variable n]", "0 2 {{{read unset} {see n}} {write w} {unset {see n}}} {{{read unset} {see n}} {write w} {unset {see n}}} {}"},
+		{"set n 3; trace add variable n unset {see n}; upvar 0 n m; unset m; list $l [trace info variable n] [trace info variable m]", "0 {{{unset {see n}}}} {} {}"},
+		{"set n 3; trace add variable n write w; unset n; trace info variable n", "0 "},
+		{"set n 3; trace add variable n write w; catch {unset n(x)}; trace info variable n", "0 {write w}"},
+		{"trace add variable n {unset write} {see n}; catch {unset n} m; list $m $l [trace info variable n]", "0 {variable: n} {} {{{unset write} {see n}}}"},
+		{"set a(1) 1; set a(2) 2; trace add variable a(1) unset {see a(1)}; trace add variable a(2) unset {see a(1)}; trace add variable a unset {see a(1)}; unset a(1); list $l [trace info variable a] [trace info variable a(1)] [trace info variable a(2)]", "0 {{{unset {see a(1)}}} {{unset {see a(1)}}}} {{unset {see a(1)}}} {} {{unset {see a(1)}}}"},
+		{"set a(1) 1; trace add variable a(1) unset {log 1}; trace add variable a(2) write {log 2}; trace add variable a unset {see a(1)}; trace add variable a unset {see a(2)}; unset a; list $l [trace info variable a] [trace info variable a(1)] [trace info variable a(2)]", "0 {{{write {log 2}}} {{unset {log 1}}}} {} {} {}"},
+		{"set s 1; trace add variable s unset {see s(1)}; unset s; list $l [trace info variable s(1)]", "0 {{}} {}"},
+		{"trace add variable s(1) write w; set s 1; trace add variable s unset {see s(1)}; unset s; list $l [trace info variable s(1)]", "0 {{{write w}}} {}"},
+		{"array set a {1 x 2 y}; trace add variable a(1) unset {see a(1)}; array unset a *; list $l [trace info variable a(1)]", "0 {{{unset {see a(1)}}}} {}"},
+		{"array set a {1 x 2 y}; trace add variable a unset {see a}; array unset a; list $l [trace info variable a]", "0 {{{unset {see a}}}} {}"},
+		{"namespace eval q {set x 1}; trace add variable q::x unset {see q::x}; upvar 0 q::x x; namespace delete q; list $l [trace info variable x]", "0 {{{unset {see q::x}}}} {}"},
+		{"proc take args {trace remove variable ::n unset {log 1}; trace remove variable ::n write w}; set n 1; trace add variable n unset {log 1}; trace add variable n write w; trace add variable n unset {log 2}; trace add variable n unset take; unset n; list $l [llength [trace info variable n]]", "0 2 0"},
+		{"proc more args {trace add variable ::n unset {log new}}; set n 1; trace add variable n unset {log 1}; trace add variable n unset more; unset n; list $l [trace info variable n] [set n 2] [unset n] $l", "0 1 {{unset {log new}}} 2 {} {1 new}"},
+		{"proc more args {trace add variable ::a(1) unset {log new}}; set a(1) 1; trace add variable a(1) unset {log 1}; trace add variable a unset more; unset a; list $l [trace info variable a(1)] [trace info variable a]", "0 {} {{unset {log new}}} {}"},
+		{"proc more args {trace add variable ::a(1) unset {log new}}; set a(1) 1; trace add variable a(1) unset {log 1}; trace add variable a unset more; unset a(1); list $l [trace info variable a(1)]", "0 {new 1} {}"},
+		{"proc again args {set ::n 5}; set n 1; trace add variable n write {log w}; trace add variable n unset {log u}; trace add variable n unset again; unset n; list $l $n [trace info variable n] [set n 6] $l", "0 u 5 {} 6 u"},
+		{"proc twice args {set ::n 5; unset ::n}; set n 1; trace add variable n unset {log 1}; trace add variable n unset twice; trace add variable n unset {log 2}; unset n; list $l [trace info variable n]", "0 2 {}"},
+		{"proc kill args {unset ::n; see n}; set n 1; trace add variable n unset {log u}; trace add variable n read kill; catch {set n}; list $l [trace info variable n]", "0 {{}} {}"},
+		{"proc kill args {set ::a(1) 2; unset ::a}; set a(1) 1; trace add variable a(1) unset {log 1}; trace add variable a unset {log 2}; trace add variable a unset kill; unset a(1); list $l [trace info variable a] [trace info variable a(1)]", "0 {} {} {}"},
+		{"proc twice args {set ::a(1) 2; unset ::a(1)}; set a(1) 1; trace add variable a(1) {write unset} {log 1}; trace add variable a unset {log 2}; trace add variable a unset twice; unset a(1); list $l [trace info variable a(1)]", "0 {1 1 2} {}"},
+	} {
+		o := New().Eval(see+c[0], 5000)
+		if got := fmt.Sprintf("%d %s", o.Code, o.Text); got != c[1] {
+			t.Errorf("%q: %q, not %q", c[0], got, c[1])
+		}
+	}
+}
+
+// TestUnsetStopped: a stop ends everything, so what it found is not gone; the variable itself was unset ahead of that.
+func TestUnsetStopped(t *testing.T) {
+	const traced = "proc u args {nop; nop}; trace add variable n {write unset} u; trace add variable n unset u; trace add variable n(1) unset u; trace add variable n(2) write u; "
+	const told = "list [trace info variable n] [trace info variable n(1)] [trace info variable n(2)] [info exists n(1)]"
+	for _, c := range []struct{ set, unset, behind string }{
+		{"set n 3; ", "unset n", "{} {} {} 0"},
+		{"set n(1) 3; ", "unset n", "{} {} {} 0"},
+		{"set n(1) 3; ", "array unset n", "{} {} {} 0"},
+		{"set n(1) 3; ", "unset n(1)", "{{unset u} {{write unset} u}} {} {{write u}} 0"},
+	} {
+		stops := 0
+		for steps := 1; ; steps++ {
+			x := New()
+			x.Eval(traced+c.set, 100)
+			o := x.Eval(c.unset, steps)
+			want := c.behind
+			if o.Code == api.CStop {
+				want = "{{unset u} {{write unset} u}} {{unset u}} {{write u}} 0"
+				stops++
+			}
+			if got := x.Eval(told, 100); got.Text != want {
+				t.Errorf("%s%s with %d steps: %s, not %s", c.set, c.unset, steps, got.Text, want)
+			}
+			if o.Code != api.CStop {
+				break
+			}
+		}
+		if stops < 6 {
+			t.Errorf("%s%s stops %d times", c.set, c.unset, stops)
+		}
+	}
+	// behind a stop they are traces as before: nothing marks them any more
+	x := New()
+	x.Eval("proc u args {lappend ::l $args}; set n 3; trace add variable n {write unset} u", 100)
+	x.Eval("unset n", 1)
+	if o := x.Eval("set n 4; unset n; set n 5; set l", 100); o.Text != "{n {} write} {n {} unset}" {
+		t.Errorf("traces behind a stop: %v", o)
 	}
 }

@@ -114,7 +114,7 @@ func (b *book) read(x *core.Machine, s core.Spot) api.Outcome { return b.access(
 
 func (b *book) write(x *core.Machine, s core.Spot) api.Outcome { return b.access(x, s, "write") }
 
-// unset does the unset traces; those of what was unset go, and with it those of its elements.
+// unset does the unset traces of what a spot led to, those of its array first; then its own go, and with an array those of its elements.
 func (b *book) unset(x *core.Machine, s core.Spot) api.Outcome {
 	if len(b.vars) == 0 {
 		return api.Outcome{}
@@ -123,25 +123,41 @@ func (b *book) unset(x *core.Machine, s core.Spot) api.Outcome {
 	if e != api.OK {
 		return api.Outcome{}
 	}
-	whole, element := p.Whole()
-	own := b.vars[p]
-	delete(b.vars, p)
-	if b.busy[p] {
-		end(own) // one of them is being done: the others are not any more
-	}
-	if element {
+	if whole, element := p.Whole(); element {
 		if o := b.happen(x, whole, b.vars[whole], s, "unset", isStop); core.Bad(o) {
 			return o
 		}
-	} else {
-		for other := range b.vars {
-			if of, is := other.Whole(); is && of == p {
-				end(b.vars[other])
-				delete(b.vars, other)
-			}
+	}
+	going := b.under(p)
+	if o := b.happen(x, p, going[p], s, "unset", isStop); core.Bad(o) {
+		return o // it ends everything: they have not gone yet
+	}
+	for at, l := range going {
+		b.drop(at, l)
+	}
+	return api.Outcome{}
+}
+
+// under returns the traces of a place, and those of its elements.
+func (b *book) under(p vars.Place) map[vars.Place][]*trace {
+	out := map[vars.Place][]*trace{p: b.vars[p]}
+	for other, l := range b.vars {
+		if whole, element := other.Whole(); element && whole == p {
+			out[other] = l
 		}
 	}
-	return b.happen(x, p, own, s, "unset", isStop)
+	return out
+}
+
+// drop takes traces of a place away; one that was added meanwhile is not among them, and stays.
+func (b *book) drop(p vars.Place, l []*trace) {
+	end(l)
+	left := slices.DeleteFunc(slices.Clone(b.vars[p]), func(t *trace) bool { return t.gone })
+	if len(left) == 0 {
+		delete(b.vars, p)
+		return
+	}
+	b.vars[p] = left
 }
 
 // end lets traces be gone.
